@@ -3,6 +3,7 @@ package tests
 import (
 	"fmt"
 	"slices"
+	"strings"
 
 	"loop.example/g01296/impl"
 )
@@ -51,11 +52,7 @@ func cutOfCells(g cells) impl.Cut {
 				continue
 			}
 			seen[k] = true
-			side := 0
-			for x+side < len(row) && row[x+side] == k {
-				side++
-			}
-			c.Squares = append(c.Squares, impl.Square{X: x, Y: y, Side: side})
+			c.Squares = append(c.Squares, impl.Square{X: x, Y: y, Side: lengthOfRun(row[x:])})
 		}
 	}
 	return c
@@ -195,6 +192,71 @@ func firstByCells(g cells) impl.Cut {
 	return best
 }
 
+// codeByCells goes on with a group where the cell at the left of a square is of one that begins in the same row.
+func codeByCells(g cells) [][]int {
+	var code [][]int
+	for y, row := range g {
+		behind := false
+		for x, k := range row {
+			starts := y == 0 || g[y-1][x] != k
+			if starts && (x == 0 || row[x-1] != k) {
+				if !behind {
+					code = append(code, nil)
+				}
+				last := len(code) - 1
+				code[last] = append(code[last], lengthOfRun(row[x:]))
+			}
+			behind = starts
+		}
+	}
+	return code
+}
+
+func lengthOfRun(row []int) int {
+	length := 0
+	for length < len(row) && row[length] == row[0] {
+		length++
+	}
+	return length
+}
+
+func levelsByCells(g cells) []int {
+	var levels []int
+	for y, row := range g {
+		for x, k := range row {
+			if (y == 0 || g[y-1][x] != k) && !slices.Contains(levels, y) {
+				levels = append(levels, y)
+			}
+		}
+	}
+	return levels
+}
+
+// cellsOfSides puts a square with each side at the first free cell, and reports false if these do not fill a rectangle.
+func cellsOfSides(width int, sides []int) (cells, bool) {
+	area := 0
+	for _, side := range sides {
+		area += side * side
+	}
+	if area%width != 0 {
+		return nil, false
+	}
+	g := noCells(width, area/width)
+	for k, side := range sides {
+		x, y := firstFree(g)
+		if x+side > width || y+side > len(g) {
+			return nil, false
+		}
+		for u := x; u < x+side; u++ {
+			if g[y][u] >= 0 {
+				return nil, false
+			}
+		}
+		paint(g, x, y, side, k)
+	}
+	return g, true
+}
+
 func numbersOf(c impl.Cut) []int {
 	var list []int
 	for _, s := range c.Squares {
@@ -209,4 +271,12 @@ func textOf(c impl.Cut) string {
 		text += fmt.Sprintf(";%d,%d,%d", s.X, s.Y, s.Side)
 	}
 	return text
+}
+
+func textOfCode(code [][]int) string {
+	var text strings.Builder
+	for _, group := range code {
+		text.WriteString("(" + strings.ReplaceAll(strings.Trim(fmt.Sprint(group), "[]"), " ", ",") + ")")
+	}
+	return text.String()
 }

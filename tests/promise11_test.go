@@ -11,45 +11,6 @@ import (
 	"loop.example/g01296/impl"
 )
 
-// A call of a function with a cut, two numbers and a text, of which it takes what it needs.
-type call func(c impl.Cut, m, n int, s string) []any
-
-// callsOfChapter1 has a call for each function of the chapter; the last result tells whether it succeeds.
-func callsOfChapter1() map[string]call {
-	return map[string]call{
-		"IsCut":          func(c impl.Cut, m, n int, s string) []any { return list(impl.IsCut(c), impl.IsCut(c)) },
-		"OneSquare":      func(c impl.Cut, m, n int, s string) []any { return list(impl.OneSquare(m)) },
-		"CutOf":          func(c impl.Cut, m, n int, s string) []any { return list(impl.CutOf(c.Width, c.Height, c.Squares)) },
-		"CutOf numbers":  func(c impl.Cut, m, n int, s string) []any { return list(impl.CutOf(m, n, c.Squares)) },
-		"SidesOf":        func(c impl.Cut, m, n int, s string) []any { return list(impl.SidesOf(c)) },
-		"IsPerfect":      func(c impl.Cut, m, n int, s string) []any { return list(impl.IsPerfect(c)) },
-		"SquareAt":       func(c impl.Cut, m, n int, s string) []any { return list(impl.SquareAt(c, m, n)) },
-		"SquaresBeside":  func(c impl.Cut, m, n int, s string) []any { return list(impl.SquaresBeside(c, m)) },
-		"SquaresAtEdges": func(c impl.Cut, m, n int, s string) []any { return list(impl.SquaresAtEdges(c)) },
-		"CrossesOf":      func(c impl.Cut, m, n int, s string) []any { return list(impl.CrossesOf(c)) },
-		"LongestLine":    func(c impl.Cut, m, n int, s string) []any { return list(impl.LongestLine(c)) },
-		"IsSimple":       func(c impl.Cut, m, n int, s string) []any { return list(impl.IsSimple(c)) },
-		"PartsOf":        func(c impl.Cut, m, n int, s string) []any { return list(impl.PartsOf(c)) },
-		"TurnCut":        func(c impl.Cut, m, n int, s string) []any { return list(impl.TurnCut(c)) },
-		"MirrorCut":      func(c impl.Cut, m, n int, s string) []any { return list(impl.MirrorCut(c)) },
-		"GrowCut":        func(c impl.Cut, m, n int, s string) []any { return list(impl.GrowCut(c, m)) },
-		"LowCut":         func(c impl.Cut, m, n int, s string) []any { return list(impl.LowCut(c)) },
-		"FirstTurn":      func(c impl.Cut, m, n int, s string) []any { return list(impl.FirstTurn(c)) },
-		"CutText":        func(c impl.Cut, m, n int, s string) []any { return list(impl.CutText(c)) },
-		"ParseCut":       func(c impl.Cut, m, n int, s string) []any { return list(impl.ParseCut(s)) },
-	}
-}
-
-func list(results ...any) []any {
-	return results
-}
-
-func TestPromise11CallsAreOfAllFunctions(t *testing.T) {
-	if n := len(callsOfChapter1()); n != 19+1 {
-		t.Error("calls", n)
-	}
-}
-
 // givenCuts are cuts of many kinds, and lists of squares that are none; the longest of them have far more squares than a cut.
 func givenCuts() []impl.Cut {
 	given := append(noCuts(), one, three, four, nine, split, through, grown(split, 125), grown(one, 500), rowsOfOnes(6, 5), rowsOfOnes(30, 1))
@@ -62,49 +23,106 @@ func givenCuts() []impl.Cut {
 	return given
 }
 
+// givenCodes have among them groups that together are longer than memory is, as they are one group many times.
+func givenCodes() [][][]int {
+	given := append(noCodes(), codesInOrder()...)
+	given = append(given, slices.Repeat([][]int{make([]int, 1<<20)}, 1<<20))
+	for _, m := range strangeInts() {
+		for _, n := range strangeInts() {
+			given = append(given, [][]int{{m, n}}, [][]int{{m}, {n}}, [][]int{{m, n}, {m, n}}, [][]int{{m, n, m, n, 1}, {1}})
+		}
+	}
+	return given
+}
+
+func givenSides() [][]int {
+	given := [][]int{nil, {}, {1}, {0}, {2, 1, 1}, slices.Repeat([]int{1}, 30), slices.Repeat([]int{1}, 31), make([]int, 100000)}
+	for _, n := range strangeInts() {
+		given = append(given, []int{n}, []int{1, n}, []int{n, n}, []int{n, 1, n})
+	}
+	return given
+}
+
 func givenTexts() []string {
 	return []string{
 		"", ";", "x", "1x1;0,0,1", textOf(nine), "3x2;0,0,2;2,0,1;2,1,1;", "\x00\xff\xfe", "ü1x1;0,0,1", "-1x-1;0,0,-1",
 		fmt.Sprintf("%dx%d;%d,%d,%d", math.MaxInt, math.MaxInt, math.MinInt, 0, math.MaxInt),
 		strings.Repeat("9", 5000) + "x1;0,0,1", strings.Repeat(";", 5000), strings.Repeat(",", 5000), strings.Repeat("x", 5000),
+		"(", ")", "()", ")(", "(1)", "(2,1)(1)", "(2,1)(1))", "(\x00)(\xff)", "(ü)", "(-1)(-1)",
+		fmt.Sprintf("(%d,%d)(%d)", math.MaxInt, math.MaxInt, math.MinInt),
+		"(" + strings.Repeat("9", 5000) + ")", strings.Repeat("(", 5000), strings.Repeat(")", 5000), strings.Repeat("(1)", 5000), "(" + strings.Repeat("1,", 5000) + "1)",
 	}
+}
+
+// givenArgs differ from arguments with which most calls succeed by one argument, or by the numbers and one more.
+func givenArgs() []args {
+	plain := args{c: three, code: [][]int{{2, 1}, {1}}, other: [][]int{{1}}, sides: []int{2, 1, 1}, m: 3, n: 1, s: "1x1;0,0,1"}
+	given := []args{{}, plain}
+	add := func(change func(a *args)) {
+		a := plain
+		change(&a)
+		given = append(given, a)
+	}
+	for _, c := range givenCuts() {
+		add(func(a *args) { a.c = c })
+	}
+	for _, code := range givenCodes() {
+		add(func(a *args) { a.code = code })
+		add(func(a *args) { a.other = code })
+	}
+	for _, sides := range givenSides() {
+		for _, m := range strangeInts() {
+			add(func(a *args) { a.sides, a.m = sides, m })
+		}
+	}
+	for _, m := range strangeInts() {
+		for _, n := range strangeInts() {
+			for _, c := range []impl.Cut{{}, one, three, nine, rowsOfOnes(30, 1)} {
+				add(func(a *args) { a.c, a.m, a.n = c, m, n })
+			}
+		}
+		for _, code := range codesInOrder() {
+			add(func(a *args) { a.code, a.m = code, m })
+		}
+	}
+	for _, s := range givenTexts() {
+		add(func(a *args) { a.s = s })
+	}
+	return given
+}
+
+// short tells arguments, of which those that are too long are cut off.
+func short(a args) string {
+	parts := []string{textOf(impl.Cut{Width: a.c.Width, Height: a.c.Height, Squares: a.c.Squares[:min(len(a.c.Squares), 31)]})}
+	for _, code := range [][][]int{a.code, a.other} {
+		parts = append(parts, fmt.Sprintf("%.80s", textOfCode(code[:min(len(code), 1)])))
+	}
+	return fmt.Sprintf("%v %v %d %d %.80q", parts, a.sides[:min(len(a.sides), 31)], a.m, a.n, a.s)
 }
 
 // called reports a panic and returns no results then.
-func called(t *testing.T, name string, f call, c impl.Cut, m, n int, s string) (results []any) {
+func called(t *testing.T, name string, f call, a args) (results []any) {
 	defer func() {
 		if r := recover(); r != nil {
-			t.Errorf("%s panics: %v: %.80s %d %d %.80q", name, r, textOf(c), m, n, s)
+			t.Errorf("%s panics: %v: %s", name, r, short(a))
 		}
 	}()
-	return f(c, m, n, s)
+	return f(a)
 }
 
 func TestPromise11NoPanicAndZeroResultsOfFailingCalls(t *testing.T) {
-	check := func(name string, f call, c impl.Cut, m, n int, s string) {
-		results := called(t, name, f, c, m, n, s)
-		if len(results) == 0 || results[len(results)-1] == true {
-			return
-		}
-		for _, r := range results {
-			if d, is := r.(impl.Cut); is && !zero(d) || !is && !emptyValue(r) {
-				t.Errorf("%s fails with results: %v %.80s %d %d %.80q", name, results, textOf(c), m, n, s)
+	given := givenArgs()
+	for name, f := range allCalls() {
+		for _, a := range given {
+			results := called(t, name, f, a)
+			if len(results) == 0 || results[len(results)-1] == true {
+				continue
 			}
-		}
-	}
-	for name, f := range callsOfChapter1() {
-		for _, c := range givenCuts() {
-			check(name, f, c, 1, 1, "1x1;0,0,1")
-		}
-		for _, m := range strangeInts() {
-			for _, n := range strangeInts() {
-				for _, c := range []impl.Cut{{}, one, three, nine, rowsOfOnes(30, 1)} {
-					check(name, f, c, m, n, "1x1;0,0,1")
+			for _, r := range results {
+				if d, is := r.(impl.Cut); is && !zero(d) || !is && !emptyValue(r) {
+					t.Errorf("%s fails with results: %v %s", name, results, short(a))
 				}
 			}
-		}
-		for _, s := range givenTexts() {
-			check(name, f, three, 1, 1, s)
 		}
 	}
 }
@@ -115,41 +133,84 @@ func emptyValue(r any) bool {
 }
 
 func TestPromise11NilAndEmptyAreTheSame(t *testing.T) {
-	for name, f := range callsOfChapter1() {
-		for _, size := range []int{0, 1, 2} {
-			a := called(t, name, f, impl.Cut{Width: size, Height: size}, 0, 0, "")
-			b := called(t, name, f, impl.Cut{Width: size, Height: size, Squares: []impl.Square{}}, 0, 0, "")
-			if !reflect.DeepEqual(a, b) {
-				t.Error(name, a, b)
+	empty := args{c: impl.Cut{Squares: []impl.Square{}}, code: [][]int{}, other: [][]int{}, sides: []int{}}
+	nilGroup := args{code: [][]int{nil}, other: [][]int{{1}, nil}}
+	emptyGroup := args{code: [][]int{{}}, other: [][]int{{1}, {}}}
+	for name, f := range allCalls() {
+		for _, two := range [][2]args{{{}, empty}, {nilGroup, emptyGroup}} {
+			for size := range 3 {
+				var results [2][]any
+				for i, a := range two {
+					a.c.Width, a.c.Height, a.m = size, size, size
+					results[i] = called(t, name, f, a)
+				}
+				if !reflect.DeepEqual(results[0], results[1]) {
+					t.Error(name, results)
+				}
 			}
 		}
 	}
 }
 
-// roomy gives the squares room behind them that holds other squares.
-func roomy(c impl.Cut) (impl.Cut, []impl.Square) {
-	all := append(slices.Clone(c.Squares), impl.Square{X: 7, Y: 8, Side: 9}, impl.Square{X: -1, Y: 0, Side: 1}, impl.Square{Side: 1})
-	c.Squares = all[:len(c.Squares)]
-	return c, all
+// roomy gives a copy of a list room behind it that holds something else.
+func roomy[T any](list []T, behind ...T) []T {
+	all := append(slices.Clone(list), behind...)
+	return all[:len(list)]
+}
+
+func roomyCode(code [][]int) [][]int {
+	list := roomy(code, []int{7}, nil)
+	for i, group := range list {
+		list[i] = roomy(group, 7, -1)
+	}
+	return list
+}
+
+// allMemory tells all that is in the memory of arguments, the room behind the lists too.
+func allMemory(a args) string {
+	text := fmt.Sprint(a.c.Squares[:cap(a.c.Squares)], a.sides[:cap(a.sides)])
+	for _, code := range [][][]int{a.code, a.other} {
+		for _, group := range code[:cap(code)] {
+			text += fmt.Sprint(group[:cap(group)])
+		}
+	}
+	return text
+}
+
+// plainArgs are short, so that each call can be made with room behind all lists.
+func plainArgs() []args {
+	var given []args
+	for _, c := range append(cutsOfSize(3, 3), three, nine, split, through, rowsOfOnes(6, 5), cut(3, 2, 2, 1, 1, 2, 0, 1, 0, 0, 2), cut(3, 2, 0, 0, 2), impl.Cut{}) {
+		given = append(given, args{c: c, m: 1, n: 1, s: textOf(c)})
+	}
+	for _, code := range append(codesInOrder(), [][]int{{2, 1}}, [][]int{{1}, nil}, [][]int{{}}, nil) {
+		sides := slices.Concat(code...)
+		for _, other := range [][][]int{{{2, 1}, {1}}, nil} {
+			given = append(given, args{code: code, other: other, sides: sides, m: 1, s: textOfCode(code)})
+		}
+		given = append(given, args{sides: sides, m: 2}, args{sides: sides, m: 3})
+	}
+	return given
 }
 
 func TestPromise11ArgumentsAreNotModifiedAndNotShared(t *testing.T) {
-	given := append(cutsOfSize(3, 3), three, nine, split, through, rowsOfOnes(6, 5), cut(3, 2, 2, 1, 1, 2, 0, 1, 0, 0, 2), cut(3, 2, 0, 0, 2), impl.Cut{})
-	for name, f := range callsOfChapter1() {
-		for _, plain := range given {
-			c, all := roomy(plain)
-			before := slices.Clone(all)
-			first := called(t, name, f, c, 1, 1, textOf(plain))
-			if !slices.Equal(all, before) {
-				t.Fatal(name, "modifies its argument", textOf(plain))
+	for name, f := range allCalls() {
+		for _, plain := range plainArgs() {
+			a := plain
+			a.c.Squares = roomy(plain.c.Squares, impl.Square{X: 7, Y: 8, Side: 9}, impl.Square{X: -1, Y: 0, Side: 1}, impl.Square{Side: 1})
+			a.code, a.other, a.sides = roomyCode(plain.code), roomyCode(plain.other), roomy(plain.sides, 1, 7)
+			before := allMemory(a)
+			first := called(t, name, f, a)
+			if allMemory(a) != before {
+				t.Fatal(name, "modifies its argument", short(plain))
 			}
 			text := fmt.Sprint(first...)
 			overwrite(first)
-			if !slices.Equal(all, before) {
-				t.Fatal(name, "shares memory with its argument", textOf(plain))
+			if allMemory(a) != before {
+				t.Fatal(name, "shares memory with its argument", short(plain))
 			}
-			if again := fmt.Sprint(called(t, name, f, plain, 1, 1, textOf(plain))...); again != text {
-				t.Fatal(name, "gives something else the second time", textOf(plain), text, again)
+			if again := fmt.Sprint(called(t, name, f, plain)...); again != text {
+				t.Fatal(name, "gives something else the second time", short(plain), text, again)
 			}
 		}
 	}
@@ -180,17 +241,20 @@ func fillAll[T any](s []T, v T) {
 }
 
 func TestPromise11SlicesOfOneResultShareNoMemory(t *testing.T) {
-	for _, f := range []func(impl.Cut) ([][]int, bool){impl.CrossesOf, impl.PartsOf} {
-		for _, c := range append(cutsOfSize(4, 4), rowsOfOnes(6, 5)) {
-			lists, ok := f(c)
-			if !ok {
-				t.Fatal(textOf(c))
-			}
-			for i, inner := range lists {
-				before := fmt.Sprint(lists[:i], lists[i+1:])
-				fillAll(inner, -77)
-				if fmt.Sprint(lists[:i], lists[i+1:]) != before {
-					t.Fatal(textOf(c), i)
+	given := plainArgs()
+	for _, c := range cutsOfSize(4, 4) {
+		given = append(given, args{c: c})
+	}
+	for name, f := range allCalls() {
+		for _, a := range given {
+			for _, r := range called(t, name, f, a) {
+				lists, _ := r.([][]int)
+				for i, inner := range lists {
+					before := fmt.Sprint(lists[:i], lists[i+1:])
+					fillAll(inner, -77)
+					if fmt.Sprint(lists[:i], lists[i+1:]) != before {
+						t.Fatal(name, short(a), i)
+					}
 				}
 			}
 		}

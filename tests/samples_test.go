@@ -137,6 +137,36 @@ func noCuts() []impl.Cut {
 	return list
 }
 
+// noCodes are not valid, each for a reason of its own: at the end are lists whose first sums wrap around to small ones.
+func noCodes() [][][]int {
+	least, greatest := math.MinInt, math.MaxInt
+	ones := slices.Repeat([]int{1}, 31)
+	list := [][][]int{
+		nil, {}, {nil}, {{}}, {nil, {1}}, {{1}, nil}, {{1}, {}, {1}}, {{}, {1}}, {{2, 1}, {}, {1}}, make([][]int, 31), make([][]int, 100000),
+		{{0}}, {{1}, {0}}, {{1, 0}}, {{0, 1}}, {{-1}}, {{1, -1, 1}}, {{-1, 2}, {1}}, {{1, 1}, {-1}},
+		{{501}}, {{251, 251}}, {{251}, {251}}, {{250, 250}, {250, 251}},
+		{{2, 1}}, {{2, 1, 1}}, {{2}, {1}}, {{2, 1}, {2}}, {{1}, {1, 1}}, {{1}, {2}}, {{3}, {2, 1}}, {{2, 1}, {1}, {1}}, {{1, 2}, {2}},
+		{{2}, {1}, {1}}, {{1, 1}, {1}, {1}}, {{1, 2, 1}, {1, 1}}, {{2, 1, 1}, {1}}, {{1, 1}, {2}, {1}},
+		{{18, 14, 4}, {10}, {15, 7}, {1, 9}, {8}}, {{18, 14}, {4, 10}, {15, 7}, {1, 9, 8}}, {{18, 14}, {4, 10}, {15, 7}, {1, 9}},
+		{ones}, slices.Collect(slices.Chunk(ones, 1)), {ones[:16], ones[:16]}, {slices.Repeat([]int{1}, 100000)}, {{1}, make([]int, 100000)},
+		{{greatest, greatest, 3}}, {{least, least, 1}}, {{least, 1, greatest, 1}}, {{1 << 62, 1 << 62, 1 << 62, 1 << 62, 1}},
+	}
+	for _, n := range []int{least, least + 1, -1, 0, 501, 1 << 31, 1 << 32, 1 << 62, greatest - 1, greatest} {
+		list = append(list, [][]int{{n}}, [][]int{{1, n}}, [][]int{{n, 1}}, [][]int{{1}, {n}}, [][]int{{2, 1}, {n}}, [][]int{{n}, {n}}, [][]int{{n, n}})
+	}
+	return list
+}
+
+// codesInOrder are in the order of codes: by their sides, then by their widths; their groups alone would order them otherwise.
+func codesInOrder() [][][]int {
+	return [][][]int{
+		{{1}}, {{1}, {1}}, {{1, 1}}, {{1}, {1}, {1}}, {{1, 1, 1}},
+		{{1}, {1}, {1}, {1}}, {{1, 1}, {1, 1}}, {{1, 1, 1, 1}}, {{1, 1}, {2}}, {{1, 2}, {1}},
+		{{2}}, {{2}, {1, 1}}, {{2, 1}, {1}}, {{2}, {2}}, {{2, 2}},
+		{{10}}, {{10}, {10}}, {{18, 14}, {4, 10}, {15, 7}, {1, 9}, {8}}, {{499}}, {{500}},
+	}
+}
+
 // strangeInts are numbers around the limits and at the ends of what an int can be.
 func strangeInts() []int {
 	return []int{math.MinInt, math.MinInt + 1, -1 << 62, -1 << 32, -500, -1, 0, 1, 2, 3, 4, 5, 29, 30, 31, 249, 250, 251, 499, 500, 501, 1 << 31, 1 << 32, 1 << 62, 1<<62 + 1, math.MaxInt - 1, math.MaxInt}

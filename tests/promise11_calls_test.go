@@ -1,0 +1,81 @@
+package tests
+
+import (
+	"maps"
+	"testing"
+
+	"loop.example/g01296/impl"
+)
+
+// args are arguments of any function, which takes what it needs of them.
+type args struct {
+	c           impl.Cut
+	code, other [][]int
+	sides       []int
+	m, n        int
+	s           string
+}
+
+type call func(a args) []any
+
+// callsOfChapter1 has a call for each function of the chapter; the last result tells whether it succeeds.
+func callsOfChapter1() map[string]call {
+	return map[string]call{
+		"IsCut":          func(a args) []any { return list(impl.IsCut(a.c), impl.IsCut(a.c)) },
+		"OneSquare":      func(a args) []any { return list(impl.OneSquare(a.m)) },
+		"CutOf":          func(a args) []any { return list(impl.CutOf(a.c.Width, a.c.Height, a.c.Squares)) },
+		"CutOf numbers":  func(a args) []any { return list(impl.CutOf(a.m, a.n, a.c.Squares)) },
+		"SidesOf":        func(a args) []any { return list(impl.SidesOf(a.c)) },
+		"IsPerfect":      func(a args) []any { return list(impl.IsPerfect(a.c)) },
+		"SquareAt":       func(a args) []any { return list(impl.SquareAt(a.c, a.m, a.n)) },
+		"SquaresBeside":  func(a args) []any { return list(impl.SquaresBeside(a.c, a.m)) },
+		"SquaresAtEdges": func(a args) []any { return list(impl.SquaresAtEdges(a.c)) },
+		"CrossesOf":      func(a args) []any { return list(impl.CrossesOf(a.c)) },
+		"LongestLine":    func(a args) []any { return list(impl.LongestLine(a.c)) },
+		"IsSimple":       func(a args) []any { return list(impl.IsSimple(a.c)) },
+		"PartsOf":        func(a args) []any { return list(impl.PartsOf(a.c)) },
+		"TurnCut":        func(a args) []any { return list(impl.TurnCut(a.c)) },
+		"MirrorCut":      func(a args) []any { return list(impl.MirrorCut(a.c)) },
+		"GrowCut":        func(a args) []any { return list(impl.GrowCut(a.c, a.m)) },
+		"LowCut":         func(a args) []any { return list(impl.LowCut(a.c)) },
+		"FirstTurn":      func(a args) []any { return list(impl.FirstTurn(a.c)) },
+		"CutText":        func(a args) []any { return list(impl.CutText(a.c)) },
+		"ParseCut":       func(a args) []any { return list(impl.ParseCut(a.s)) },
+	}
+}
+
+func callsOfChapter2() map[string]call {
+	return map[string]call{
+		"CodeOf":        func(a args) []any { return list(impl.CodeOf(a.c)) },
+		"CutOfCode":     func(a args) []any { return list(impl.CutOfCode(a.code)) },
+		"CutOfSides":    func(a args) []any { return list(impl.CutOfSides(a.m, a.sides)) },
+		"IsCutCode":     func(a args) []any { return list(impl.IsCutCode(a.code), impl.IsCutCode(a.code)) },
+		"WidthOfCode":   func(a args) []any { return list(impl.WidthOfCode(a.code)) },
+		"OrderOfCode":   func(a args) []any { return list(impl.OrderOfCode(a.code)) },
+		"TurnCode":      func(a args) []any { return list(impl.TurnCode(a.code)) },
+		"MirrorCode":    func(a args) []any { return list(impl.MirrorCode(a.code)) },
+		"GrowCode":      func(a args) []any { return list(impl.GrowCode(a.code, a.m)) },
+		"FirstCode":     func(a args) []any { return list(impl.FirstCode(a.c)) },
+		"LevelsOf":      func(a args) []any { return list(impl.LevelsOf(a.c)) },
+		"GroupOfSquare": func(a args) []any { return list(impl.GroupOfSquare(a.c, a.m)) },
+		"CompareCodes":  func(a args) []any { return list(impl.CompareCodes(a.code, a.other)) },
+		"CodeText":      func(a args) []any { return list(impl.CodeText(a.code)) },
+		"ParseCode":     func(a args) []any { return list(impl.ParseCode(a.s)) },
+	}
+}
+
+func list(results ...any) []any {
+	return results
+}
+
+func allCalls() map[string]call {
+	calls := callsOfChapter1()
+	maps.Copy(calls, callsOfChapter2())
+	return calls
+}
+
+func TestPromise11CallsAreOfAllFunctions(t *testing.T) {
+	if one, two := len(callsOfChapter1()), len(callsOfChapter2()); one != 19+1 || two != 15 {
+		t.Error("calls", one, two)
+	}
+}
