@@ -11,7 +11,8 @@ import (
 type args struct {
 	c           impl.Cut
 	code, other [][]int
-	sides       []int
+	net         impl.Net
+	numbers     []int
 	m, n        int
 	s           string
 }
@@ -48,7 +49,7 @@ func callsOfChapter2() map[string]call {
 	return map[string]call{
 		"CodeOf":        func(a args) []any { return list(impl.CodeOf(a.c)) },
 		"CutOfCode":     func(a args) []any { return list(impl.CutOfCode(a.code)) },
-		"CutOfSides":    func(a args) []any { return list(impl.CutOfSides(a.m, a.sides)) },
+		"CutOfSides":    func(a args) []any { return list(impl.CutOfSides(a.m, a.numbers)) },
 		"IsCutCode":     func(a args) []any { return list(impl.IsCutCode(a.code), impl.IsCutCode(a.code)) },
 		"WidthOfCode":   func(a args) []any { return list(impl.WidthOfCode(a.code)) },
 		"OrderOfCode":   func(a args) []any { return list(impl.OrderOfCode(a.code)) },
@@ -64,6 +65,27 @@ func callsOfChapter2() map[string]call {
 	}
 }
 
+func callsOfChapter3() map[string]call {
+	return map[string]call{
+		"IsNet":        func(a args) []any { return list(impl.IsNet(a.net), impl.IsNet(a.net)) },
+		"LinesOf":      func(a args) []any { return list(impl.LinesOf(a.c)) },
+		"NetOfCut":     func(a args) []any { return list(impl.NetOfCut(a.c)) },
+		"TreesOf":      func(a args) []any { return list(impl.TreesOf(a.net)) },
+		"JoinedTrees":  func(a args) []any { return list(impl.JoinedTrees(a.net)) },
+		"PotentialsOf": func(a args) []any { return list(impl.PotentialsOf(a.net)) },
+		"CurrentsOf":   func(a args) []any { return list(impl.CurrentsOf(a.net)) },
+		"LowCurrents":  func(a args) []any { return list(impl.LowCurrents(a.net)) },
+		"RatioOfNet":   func(a args) []any { return list(impl.RatioOfNet(a.net)) },
+		"IsFlow":       func(a args) []any { return list(impl.IsFlow(a.net, a.numbers)) },
+		"IsBalanced":   func(a args) []any { return list(impl.IsBalanced(a.net, a.numbers)) },
+		"AddWire":      func(a args) []any { return list(impl.AddWire(a.net, impl.Wire{From: a.m, To: a.n})) },
+		"DropWire":     func(a args) []any { return list(impl.DropWire(a.net, a.m)) },
+		"BackNet":      func(a args) []any { return list(impl.BackNet(a.net)) },
+		"NetText":      func(a args) []any { return list(impl.NetText(a.net)) },
+		"ParseNet":     func(a args) []any { return list(impl.ParseNet(a.s)) },
+	}
+}
+
 func list(results ...any) []any {
 	return results
 }
@@ -71,11 +93,12 @@ func list(results ...any) []any {
 func allCalls() map[string]call {
 	calls := callsOfChapter1()
 	maps.Copy(calls, callsOfChapter2())
+	maps.Copy(calls, callsOfChapter3())
 	return calls
 }
 
 func TestPromise11CallsAreOfAllFunctions(t *testing.T) {
-	if one, two := len(callsOfChapter1()), len(callsOfChapter2()); one != 19+1 || two != 15 {
-		t.Error("calls", one, two)
+	if one, two, three := len(callsOfChapter1()), len(callsOfChapter2()), len(callsOfChapter3()); one != 19+1 || two != 15 || three != 16 {
+		t.Error("calls", one, two, three)
 	}
 }

@@ -13,7 +13,7 @@ import (
 
 // givenCuts are cuts of many kinds, and lists of squares that are none; the longest of them have far more squares than a cut.
 func givenCuts() []impl.Cut {
-	given := append(noCuts(), one, three, four, nine, split, through, grown(split, 125), grown(one, 500), rowsOfOnes(6, 5), rowsOfOnes(30, 1))
+	given := append(noCuts(), one, three, four, nine, split, through, grown(split, 125), grown(one, 500), rowsOfOnes(6, 5), rowsOfOnes(30, 1), rowsOfOnes(1, 30))
 	given = append(given, rowsOfOnes(300, 300), impl.Cut{Width: 500, Height: 500, Squares: make([]impl.Square, 100000)})
 	for _, m := range strangeInts() {
 		for _, n := range strangeInts() {
@@ -35,10 +35,22 @@ func givenCodes() [][][]int {
 	return given
 }
 
-func givenSides() [][]int {
-	given := [][]int{nil, {}, {1}, {0}, {2, 1, 1}, slices.Repeat([]int{1}, 30), slices.Repeat([]int{1}, 31), make([]int, 100000)}
-	for _, n := range strangeInts() {
-		given = append(given, []int{n}, []int{1, n}, []int{n, n}, []int{n, 1, n})
+// givenNets are nets of many kinds, and lists of wires that are none: with nodes that there are none of, from a node to itself, or not joining all nodes.
+func givenNets() []impl.Net {
+	given := slices.Concat(noNets(), greatNets(), []impl.Net{oneWire, backWire, ofThree, {Nodes: 2, Wires: make([]impl.Wire, 100000)}, {Nodes: math.MaxInt, Wires: wires(100000, 0, math.MaxInt)}})
+	for _, m := range strangeInts() {
+		for _, n := range strangeInts() {
+			given = append(given, net(m, 0, n), net(m, n, 0, 1, n), net(2, m, n), net(3, 0, 1, 1, 2, m, n), net(12, m, n))
+		}
+	}
+	return given
+}
+
+// givenNumbers are sides, or currents.
+func givenNumbers() [][]int {
+	given := [][]int{nil, {}, {1}, {0}, {2, 1, 1}, {-2, -1, -1}, slices.Repeat([]int{1}, 30), slices.Repeat([]int{1}, 31), make([]int, 100000)}
+	for _, n := range append(strangeInts(), 1000000, -1000000, 1000001, -1000001) {
+		given = append(given, []int{n}, []int{1, n}, []int{n, n}, []int{n, 1, n}, []int{n, n, n})
 	}
 	return given
 }
@@ -51,12 +63,15 @@ func givenTexts() []string {
 		"(", ")", "()", ")(", "(1)", "(2,1)(1)", "(2,1)(1))", "(\x00)(\xff)", "(ü)", "(-1)(-1)",
 		fmt.Sprintf("(%d,%d)(%d)", math.MaxInt, math.MaxInt, math.MinInt),
 		"(" + strings.Repeat("9", 5000) + ")", strings.Repeat("(", 5000), strings.Repeat(")", 5000), strings.Repeat("(1)", 5000), "(" + strings.Repeat("1,", 5000) + "1)",
+		":", "2:", ":0-1", "2:0-1", "3:0-2,0-1,1-2", "3:0-1", "2:0-0", "2:-1-0", "2:0-1\x00", "\xff:0-1", "2:ü-1",
+		fmt.Sprintf("%d:%d-%d", math.MaxInt, math.MinInt, math.MaxInt),
+		strings.Repeat("9", 5000) + ":0-1", strings.Repeat(":", 5000), strings.Repeat("-", 5000), "2:" + strings.Repeat("0-1,", 5000) + "0-1",
 	}
 }
 
 // givenArgs differ from arguments with which most calls succeed by one argument, or by the numbers and one more.
 func givenArgs() []args {
-	plain := args{c: three, code: [][]int{{2, 1}, {1}}, other: [][]int{{1}}, sides: []int{2, 1, 1}, m: 3, n: 1, s: "1x1;0,0,1"}
+	plain := args{c: three, code: [][]int{{2, 1}, {1}}, other: [][]int{{1}}, net: ofThree, numbers: []int{2, 1, 1}, m: 3, n: 1, s: "1x1;0,0,1"}
 	given := []args{{}, plain}
 	add := func(change func(a *args)) {
 		a := plain
@@ -70,9 +85,16 @@ func givenArgs() []args {
 		add(func(a *args) { a.code = code })
 		add(func(a *args) { a.other = code })
 	}
-	for _, sides := range givenSides() {
+	for _, n := range givenNets() {
+		add(func(a *args) { a.net, a.m, a.n = n, 0, 1 })
+		add(func(a *args) { a.net, a.numbers = n, make([]int, len(n.Wires)) })
+	}
+	for _, numbers := range givenNumbers() {
 		for _, m := range strangeInts() {
-			add(func(a *args) { a.sides, a.m = sides, m })
+			add(func(a *args) { a.numbers, a.m = numbers, m })
+		}
+		for _, n := range []impl.Net{{}, oneWire, chain(2, 2), chain(2, 30), net(3, 0, 1)} {
+			add(func(a *args) { a.net, a.numbers = n, numbers })
 		}
 	}
 	for _, m := range strangeInts() {
@@ -97,7 +119,7 @@ func short(a args) string {
 	for _, code := range [][][]int{a.code, a.other} {
 		parts = append(parts, fmt.Sprintf("%.80s", textOfCode(code[:min(len(code), 1)])))
 	}
-	return fmt.Sprintf("%v %v %d %d %.80q", parts, a.sides[:min(len(a.sides), 31)], a.m, a.n, a.s)
+	return fmt.Sprintf("%v %.200s %v %d %d %.80q", parts, textOfNet(a.net), a.numbers[:min(len(a.numbers), 31)], a.m, a.n, a.s)
 }
 
 // called reports a panic and returns no results then.
@@ -118,22 +140,26 @@ func TestPromise11NoPanicAndZeroResultsOfFailingCalls(t *testing.T) {
 			if len(results) == 0 || results[len(results)-1] == true {
 				continue
 			}
-			for _, r := range results {
-				if d, is := r.(impl.Cut); is && !zero(d) || !is && !emptyValue(r) {
-					t.Errorf("%s fails with results: %v %s", name, results, short(a))
-				}
+			if slices.ContainsFunc(results, isSomething) {
+				t.Errorf("%s fails with results: %v %s", name, results, short(a))
 			}
 		}
 	}
 }
 
-func emptyValue(r any) bool {
+func isSomething(r any) bool {
+	switch x := r.(type) {
+	case impl.Cut:
+		return !zero(x)
+	case impl.Net:
+		return !zeroNet(x)
+	}
 	v := reflect.ValueOf(r)
-	return v.IsZero() || v.Kind() == reflect.Slice && v.Len() == 0
+	return !v.IsZero() && (v.Kind() != reflect.Slice || v.Len() > 0)
 }
 
 func TestPromise11NilAndEmptyAreTheSame(t *testing.T) {
-	empty := args{c: impl.Cut{Squares: []impl.Square{}}, code: [][]int{}, other: [][]int{}, sides: []int{}}
+	empty := args{c: impl.Cut{Squares: []impl.Square{}}, code: [][]int{}, other: [][]int{}, net: impl.Net{Wires: []impl.Wire{}}, numbers: []int{}}
 	nilGroup := args{code: [][]int{nil}, other: [][]int{{1}, nil}}
 	emptyGroup := args{code: [][]int{{}}, other: [][]int{{1}, {}}}
 	for name, f := range allCalls() {
@@ -141,7 +167,7 @@ func TestPromise11NilAndEmptyAreTheSame(t *testing.T) {
 			for size := range 3 {
 				var results [2][]any
 				for i, a := range two {
-					a.c.Width, a.c.Height, a.m = size, size, size
+					a.c.Width, a.c.Height, a.net.Nodes, a.m, a.n = size, size, size, size, size+1
 					results[i] = called(t, name, f, a)
 				}
 				if !reflect.DeepEqual(results[0], results[1]) {
@@ -168,7 +194,7 @@ func roomyCode(code [][]int) [][]int {
 
 // allMemory tells all that is in the memory of arguments, the room behind the lists too.
 func allMemory(a args) string {
-	text := fmt.Sprint(a.c.Squares[:cap(a.c.Squares)], a.sides[:cap(a.sides)])
+	text := fmt.Sprint(a.c.Squares[:cap(a.c.Squares)], a.net.Wires[:cap(a.net.Wires)], a.numbers[:cap(a.numbers)])
 	for _, code := range [][][]int{a.code, a.other} {
 		for _, group := range code[:cap(code)] {
 			text += fmt.Sprint(group[:cap(group)])
@@ -186,9 +212,12 @@ func plainArgs() []args {
 	for _, code := range append(codesInOrder(), [][]int{{2, 1}}, [][]int{{1}, nil}, [][]int{{}}, nil) {
 		sides := slices.Concat(code...)
 		for _, other := range [][][]int{{{2, 1}, {1}}, nil} {
-			given = append(given, args{code: code, other: other, sides: sides, m: 1, s: textOfCode(code)})
+			given = append(given, args{code: code, other: other, numbers: sides, m: 1, s: textOfCode(code)})
 		}
-		given = append(given, args{sides: sides, m: 2}, args{sides: sides, m: 3})
+		given = append(given, args{numbers: sides, m: 2}, args{numbers: sides, m: 3})
+	}
+	for _, n := range []impl.Net{oneWire, chain(2, 2), ofThree, bridge, backBridge, icosahedron(), chain(2, 30), chain(12, 1), net(3, 0, 1), net(2, 0, 0), {}} {
+		given = append(given, args{net: n, numbers: make([]int, len(n.Wires)), m: 0, n: 1, s: textOfNet(n)}, args{net: n, m: 1, n: 0})
 	}
 	return given
 }
@@ -198,7 +227,8 @@ func TestPromise11ArgumentsAreNotModifiedAndNotShared(t *testing.T) {
 		for _, plain := range plainArgs() {
 			a := plain
 			a.c.Squares = roomy(plain.c.Squares, impl.Square{X: 7, Y: 8, Side: 9}, impl.Square{X: -1, Y: 0, Side: 1}, impl.Square{Side: 1})
-			a.code, a.other, a.sides = roomyCode(plain.code), roomyCode(plain.other), roomy(plain.sides, 1, 7)
+			a.code, a.other, a.numbers = roomyCode(plain.code), roomyCode(plain.other), roomy(plain.numbers, 1, 7)
+			a.net.Wires = roomy(plain.net.Wires, impl.Wire{From: 0, To: 1}, impl.Wire{From: 7, To: -1})
 			before := allMemory(a)
 			first := called(t, name, f, a)
 			if allMemory(a) != before {
@@ -222,6 +252,8 @@ func overwrite(results []any) {
 		switch x := r.(type) {
 		case impl.Cut:
 			fillAll(x.Squares, impl.Square{X: 77, Y: 77, Side: 77})
+		case impl.Net:
+			fillAll(x.Wires, impl.Wire{From: 77, To: 77})
 		case []int:
 			fillAll(x, 77)
 		case [][]int:
