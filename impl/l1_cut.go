@@ -350,6 +350,11 @@ func commonDivisor(a int, b int) int {
 	return a
 }
 
+func lowestTerms(a int, b int) (int, int) {
+	divisor := commonDivisor(a, b)
+	return a / divisor, b / divisor
+}
+
 func scaled(c Cut, times int, divisor int) Cut {
 	squares := make([]Square, len(c.Squares))
 	for i, s := range c.Squares {

@@ -13,7 +13,7 @@ type args struct {
 	code, other [][]int
 	net         impl.Net
 	numbers     []int
-	m, n        int
+	m, n, k     int
 	s           string
 }
 
@@ -86,6 +86,27 @@ func callsOfChapter3() map[string]call {
 	}
 }
 
+func callsOfChapter4() map[string]call {
+	return map[string]call{
+		"RatioOfCut":       func(a args) []any { return list(impl.RatioOfCut(a.c)) },
+		"QuotientsOf":      func(a args) []any { return list(impl.QuotientsOf(a.m, a.n)) },
+		"CountGreedy":      func(a args) []any { return list(impl.CountGreedy(a.m, a.n)) },
+		"GreedyCut":        func(a args) []any { return list(impl.GreedyCut(a.m, a.n)) },
+		"RatioOfQuotients": func(a args) []any { return list(impl.RatioOfQuotients(a.numbers)) },
+		"WordOfRatio":      func(a args) []any { return list(impl.WordOfRatio(a.m, a.n)) },
+		"RatioOfWord":      func(a args) []any { return list(impl.RatioOfWord(a.s)) },
+		"CutOfWord":        func(a args) []any { return list(impl.CutOfWord(a.s)) },
+		"TurnedWord":       func(a args) []any { return list(impl.TurnedWord(a.s)) },
+		"SidesOfWord":      func(a args) []any { return list(impl.SidesOfWord(a.s)) },
+		"CountRatios":      func(a args) []any { return list(impl.CountRatios(a.m)) },
+		"RatiosOf":         func(a args) []any { return list(impl.RatiosOf(a.m)) },
+		"GreatestRatio":    func(a args) []any { return list(impl.GreatestRatio(a.m)) },
+		"RankOfRatio":      func(a args) []any { return list(impl.RankOfRatio(a.m, a.n)) },
+		"RatioOfRank":      func(a args) []any { return list(impl.RatioOfRank(a.m, a.n)) },
+		"IsSquareRatio":    func(a args) []any { return list(impl.IsSquareRatio(a.m, a.n, a.k)) },
+	}
+}
+
 func list(results ...any) []any {
 	return results
 }
@@ -94,11 +115,13 @@ func allCalls() map[string]call {
 	calls := callsOfChapter1()
 	maps.Copy(calls, callsOfChapter2())
 	maps.Copy(calls, callsOfChapter3())
+	maps.Copy(calls, callsOfChapter4())
 	return calls
 }
 
 func TestPromise11CallsAreOfAllFunctions(t *testing.T) {
-	if one, two, three := len(callsOfChapter1()), len(callsOfChapter2()), len(callsOfChapter3()); one != 19+1 || two != 15 || three != 16 {
-		t.Error("calls", one, two, three)
+	counts := [...]int{len(callsOfChapter1()), len(callsOfChapter2()), len(callsOfChapter3()), len(callsOfChapter4())}
+	if counts != [...]int{19 + 1, 15, 16, 16} {
+		t.Error("calls", counts)
 	}
 }

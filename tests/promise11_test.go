@@ -46,17 +46,18 @@ func givenNets() []impl.Net {
 	return given
 }
 
-// givenNumbers are sides, or currents.
+// givenNumbers are sides, currents, or quotients.
 func givenNumbers() [][]int {
 	given := [][]int{nil, {}, {1}, {0}, {2, 1, 1}, {-2, -1, -1}, slices.Repeat([]int{1}, 30), slices.Repeat([]int{1}, 31), make([]int, 100000)}
-	for _, n := range append(strangeInts(), 1000000, -1000000, 1000001, -1000001) {
-		given = append(given, []int{n}, []int{1, n}, []int{n, n}, []int{n, 1, n}, []int{n, n, n})
+	given = append(given, []int{2, 3}, slices.Repeat([]int{2}, 20), slices.Repeat([]int{2}, 21), slices.Repeat([]int{math.MaxInt}, 20), append(slices.Repeat([]int{1}, 13), 2))
+	for _, n := range append(strangeInts(), 1000, 1001, 1000000, -1000000, 1000001, -1000001) {
+		given = append(given, []int{n}, []int{1, n}, []int{n, 2}, []int{n, n}, []int{n, 1, n}, []int{n, n, n})
 	}
 	return given
 }
 
 func givenTexts() []string {
-	return []string{
+	return append(noWords(), []string{
 		"", ";", "x", "1x1;0,0,1", textOf(nine), "3x2;0,0,2;2,0,1;2,1,1;", "\x00\xff\xfe", "ü1x1;0,0,1", "-1x-1;0,0,-1",
 		fmt.Sprintf("%dx%d;%d,%d,%d", math.MaxInt, math.MaxInt, math.MinInt, 0, math.MaxInt),
 		strings.Repeat("9", 5000) + "x1;0,0,1", strings.Repeat(";", 5000), strings.Repeat(",", 5000), strings.Repeat("x", 5000),
@@ -66,12 +67,18 @@ func givenTexts() []string {
 		":", "2:", ":0-1", "2:0-1", "3:0-2,0-1,1-2", "3:0-1", "2:0-0", "2:-1-0", "2:0-1\x00", "\xff:0-1", "2:ü-1",
 		fmt.Sprintf("%d:%d-%d", math.MaxInt, math.MinInt, math.MaxInt),
 		strings.Repeat("9", 5000) + ":0-1", strings.Repeat(":", 5000), strings.Repeat("-", 5000), "2:" + strings.Repeat("0-1,", 5000) + "0-1",
-	}
+		"b", "u", "uubb", byTurns(14), byTurns(15), byTurns(16), byTurns(20), strings.Repeat("b", 20), strings.Repeat("u", 20),
+	}...)
+}
+
+// ratioInts are numbers around the limits of ratios, of words and of squares in all.
+func ratioInts() []int {
+	return append(strangeInts(), 7, 8, 9, 14, 15, 16, 17, 19, 20, 21, 22, 610, 987, 999, 1000, 1001)
 }
 
 // givenArgs differ from arguments with which most calls succeed by one argument, or by the numbers and one more.
 func givenArgs() []args {
-	plain := args{c: three, code: [][]int{{2, 1}, {1}}, other: [][]int{{1}}, net: ofThree, numbers: []int{2, 1, 1}, m: 3, n: 1, s: "1x1;0,0,1"}
+	plain := args{c: three, code: [][]int{{2, 1}, {1}}, other: [][]int{{1}}, net: ofThree, numbers: []int{2, 1, 1}, m: 3, n: 1, k: 3, s: "1x1;0,0,1"}
 	given := []args{{}, plain}
 	add := func(change func(a *args)) {
 		a := plain
@@ -107,6 +114,12 @@ func givenArgs() []args {
 			add(func(a *args) { a.code, a.m = code, m })
 		}
 	}
+	for _, m := range ratioInts() {
+		for _, n := range ratioInts() {
+			add(func(a *args) { a.m, a.n = m, n })
+			add(func(a *args) { a.m, a.k = m, n })
+		}
+	}
 	for _, s := range givenTexts() {
 		add(func(a *args) { a.s = s })
 	}
@@ -119,7 +132,7 @@ func short(a args) string {
 	for _, code := range [][][]int{a.code, a.other} {
 		parts = append(parts, fmt.Sprintf("%.80s", textOfCode(code[:min(len(code), 1)])))
 	}
-	return fmt.Sprintf("%v %.200s %v %d %d %.80q", parts, textOfNet(a.net), a.numbers[:min(len(a.numbers), 31)], a.m, a.n, a.s)
+	return fmt.Sprintf("%v %.200s %v %d %d %d %.80q", parts, textOfNet(a.net), a.numbers[:min(len(a.numbers), 31)], a.m, a.n, a.k, a.s)
 }
 
 // called reports a panic and returns no results then.
@@ -218,6 +231,9 @@ func plainArgs() []args {
 	}
 	for _, n := range []impl.Net{oneWire, chain(2, 2), ofThree, bridge, backBridge, icosahedron(), chain(2, 30), chain(12, 1), net(3, 0, 1), net(2, 0, 0), {}} {
 		given = append(given, args{net: n, numbers: make([]int, len(n.Wires)), m: 0, n: 1, s: textOfNet(n)}, args{net: n, m: 1, n: 0})
+	}
+	for _, numbers := range [][]int{{1}, {2, 3}, {3, 2, 2}, {333, 3}, {2, 1}, {501, 2}, {0}} {
+		given = append(given, args{numbers: numbers, m: 7, n: 3, k: 5, s: "uubb"}, args{numbers: numbers, m: 3, n: 2, k: 5, s: "b"}, args{numbers: numbers, m: 8, n: 1000, k: 1, s: byTurns(20)})
 	}
 	return given
 }
