@@ -27,7 +27,7 @@ type cell [2]int
 
 // IsCut reports whether c, whose numbers may be any, is a cut.
 func IsCut(c Cut) bool {
-	if !isLength(c.Width) || !isLength(c.Height) || len(c.Squares) > MaxSquares {
+	if !areUpTo(MaxWide, c.Width, c.Height) || len(c.Squares) > MaxSquares {
 		return false
 	}
 	free := c.Width * c.Height
@@ -42,7 +42,11 @@ func IsCut(c Cut) bool {
 }
 
 func isLength(n int) bool {
-	return 1 <= n && n <= MaxWide
+	return areUpTo(MaxWide, n, n)
+}
+
+func areUpTo(most int, width int, height int) bool {
+	return 1 <= min(width, height) && max(width, height) <= most
 }
 
 // isWithin takes the side from the length, as adding it to a place that may be any number could wrap around.

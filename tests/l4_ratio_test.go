@@ -555,7 +555,7 @@ func TestIsSquareRatio(t *testing.T) {
 	check(1000, 999, 1, false)
 }
 
-// TestGoroutinesEnd makes calls that take all squares off, and calls that stop before; the last goroutine may need a moment to be gone.
+// TestGoroutinesEnd makes calls that take all squares off, and calls that stop before.
 func TestGoroutinesEnd(t *testing.T) {
 	before := runtime.NumGoroutine()
 	for range 200 {
@@ -569,6 +569,12 @@ func TestGoroutinesEnd(t *testing.T) {
 		impl.IsSquareRatio(1000, 1, 1)
 		impl.GreedyCut(0, 0)
 	}
+	checkGoroutinesEnd(t, before)
+}
+
+// checkGoroutinesEnd gives the last goroutine a moment to be gone.
+func checkGoroutinesEnd(t *testing.T, before int) {
+	t.Helper()
 	for range 1000 {
 		if runtime.NumGoroutine() <= before {
 			return

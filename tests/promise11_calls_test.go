@@ -107,6 +107,25 @@ func callsOfChapter4() map[string]call {
 	}
 }
 
+func callsOfChapter5() map[string]call {
+	return map[string]call{
+		"FewestSquares":     func(a args) []any { return list(impl.FewestSquares(a.m, a.n)) },
+		"FirstFewest":       func(a args) []any { return list(impl.FirstFewest(a.m, a.n)) },
+		"CountFewest":       func(a args) []any { return list(impl.CountFewest(a.m, a.n)) },
+		"CountFewestTurns":  func(a args) []any { return list(impl.CountFewestTurns(a.m, a.n)) },
+		"FewestTurns":       func(a args) []any { return list(impl.FewestTurns(a.m, a.n)) },
+		"CountSimpleFewest": func(a args) []any { return list(impl.CountSimpleFewest(a.m, a.n)) },
+		"SidesOfFewest":     func(a args) []any { return list(impl.SidesOfFewest(a.m, a.n)) },
+		"FewestTable":       func(a args) []any { return list(impl.FewestTable(a.m)) },
+		"FewestByLines":     func(a args) []any { return list(impl.FewestByLines(a.m, a.n)) },
+		"CutByLines":        func(a args) []any { return list(impl.CutByLines(a.m, a.n)) },
+		"LinedTable":        func(a args) []any { return list(impl.LinedTable(a.m)) },
+		"LinesLose":         func(a args) []any { return list(impl.LinesLose(a.m, a.n)) },
+		"GreedyLose":        func(a args) []any { return list(impl.GreedyLose(a.m, a.n)) },
+		"IsFewest":          func(a args) []any { return list(impl.IsFewest(a.c)) },
+	}
+}
+
 func list(results ...any) []any {
 	return results
 }
@@ -116,12 +135,13 @@ func allCalls() map[string]call {
 	maps.Copy(calls, callsOfChapter2())
 	maps.Copy(calls, callsOfChapter3())
 	maps.Copy(calls, callsOfChapter4())
+	maps.Copy(calls, callsOfChapter5())
 	return calls
 }
 
 func TestPromise11CallsAreOfAllFunctions(t *testing.T) {
-	counts := [...]int{len(callsOfChapter1()), len(callsOfChapter2()), len(callsOfChapter3()), len(callsOfChapter4())}
-	if counts != [...]int{19 + 1, 15, 16, 16} {
+	counts := [...]int{len(callsOfChapter1()), len(callsOfChapter2()), len(callsOfChapter3()), len(callsOfChapter4()), len(callsOfChapter5())}
+	if counts != [...]int{19 + 1, 15, 16, 16, 14} {
 		t.Error("calls", counts)
 	}
 }

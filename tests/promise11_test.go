@@ -76,6 +76,11 @@ func ratioInts() []int {
 	return append(strangeInts(), 7, 8, 9, 14, 15, 16, 17, 19, 20, 21, 22, 610, 987, 999, 1000, 1001)
 }
 
+// fewInts are numbers around the limits of the widths and heights of which the fewest squares are told.
+func fewInts() []int {
+	return append(strangeInts(), 8, 9, 10, 12, 13, 14, 59, 60, 61)
+}
+
 // givenArgs differ from arguments with which most calls succeed by one argument, or by the numbers and one more.
 func givenArgs() []args {
 	plain := args{c: three, code: [][]int{{2, 1}, {1}}, other: [][]int{{1}}, net: ofThree, numbers: []int{2, 1, 1}, m: 3, n: 1, k: 3, s: "1x1;0,0,1"}
@@ -118,6 +123,11 @@ func givenArgs() []args {
 		for _, n := range ratioInts() {
 			add(func(a *args) { a.m, a.n = m, n })
 			add(func(a *args) { a.m, a.k = m, n })
+		}
+	}
+	for _, m := range fewInts() {
+		for _, n := range fewInts() {
+			add(func(a *args) { a.m, a.n = m, n })
 		}
 	}
 	for _, s := range givenTexts() {
@@ -232,6 +242,9 @@ func plainArgs() []args {
 	for _, n := range []impl.Net{oneWire, chain(2, 2), ofThree, bridge, backBridge, icosahedron(), chain(2, 30), chain(12, 1), net(3, 0, 1), net(2, 0, 0), {}} {
 		given = append(given, args{net: n, numbers: make([]int, len(n.Wires)), m: 0, n: 1, s: textOfNet(n)}, args{net: n, m: 1, n: 0})
 	}
+	for _, size := range [][2]int{{1, 1}, {5, 2}, {2, 5}, {9, 8}, {8, 7}, {7, 8}, {13, 11}, {13, 13}, {1, 13}, {31, 1}, {60, 59}, {60, 60}} {
+		given = append(given, args{m: size[0], n: size[1]})
+	}
 	for _, numbers := range [][]int{{1}, {2, 3}, {3, 2, 2}, {333, 3}, {2, 1}, {501, 2}, {0}} {
 		given = append(given, args{numbers: numbers, m: 7, n: 3, k: 5, s: "uubb"}, args{numbers: numbers, m: 3, n: 2, k: 5, s: "b"}, args{numbers: numbers, m: 8, n: 1000, k: 1, s: byTurns(20)})
 	}
@@ -270,6 +283,11 @@ func overwrite(results []any) {
 			fillAll(x.Squares, impl.Square{X: 77, Y: 77, Side: 77})
 		case impl.Net:
 			fillAll(x.Wires, impl.Wire{From: 77, To: 77})
+		case []impl.Cut:
+			for _, inner := range x {
+				fillAll(inner.Squares, impl.Square{X: 77, Y: 77, Side: 77})
+			}
+			fillAll(x, impl.Cut{Width: 77})
 		case []int:
 			fillAll(x, 77)
 		case [][]int:
@@ -297,14 +315,22 @@ func TestPromise11SlicesOfOneResultShareNoMemory(t *testing.T) {
 		for _, a := range given {
 			for _, r := range called(t, name, f, a) {
 				lists, _ := r.([][]int)
-				for i, inner := range lists {
-					before := fmt.Sprint(lists[:i], lists[i+1:])
-					fillAll(inner, -77)
-					if fmt.Sprint(lists[:i], lists[i+1:]) != before {
-						t.Fatal(name, short(a), i)
-					}
-				}
+				shareNothing(t, name, lists, func(inner []int) { fillAll(inner, -77) })
+				cuts, _ := r.([]impl.Cut)
+				shareNothing(t, name, cuts, func(inner impl.Cut) { fillAll(inner.Squares, impl.Square{X: -77}) })
 			}
+		}
+	}
+}
+
+// shareNothing writes over one element after the other, which must not change the others.
+func shareNothing[T any](t *testing.T, name string, list []T, overwrite func(T)) {
+	t.Helper()
+	for i, inner := range list {
+		before := fmt.Sprint(list[:i], list[i+1:])
+		overwrite(inner)
+		if fmt.Sprint(list[:i], list[i+1:]) != before {
+			t.Fatal(name, list, i)
 		}
 	}
 }
