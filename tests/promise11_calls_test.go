@@ -9,7 +9,8 @@ import (
 
 // args are arguments of any function, which takes what it needs of them.
 type args struct {
-	c           impl.Cut
+	c, d        impl.Cut
+	cuts        []impl.Cut
 	code, other [][]int
 	net         impl.Net
 	numbers     []int
@@ -126,6 +127,26 @@ func callsOfChapter5() map[string]call {
 	}
 }
 
+func callsOfChapter6() map[string]call {
+	return map[string]call{
+		"BesideCuts":    func(a args) []any { return list(impl.BesideCuts(a.c, a.d)) },
+		"UnderCuts":     func(a args) []any { return list(impl.UnderCuts(a.c, a.d)) },
+		"PutSquare":     func(a args) []any { return list(impl.PutSquare(a.c, a.m)) },
+		"PartAcross":    func(a args) []any { return list(impl.PartAcross(a.c)) },
+		"PartDown":      func(a args) []any { return list(impl.PartDown(a.c)) },
+		"TakePart":      func(a args) []any { return list(impl.TakePart(a.c, a.numbers)) },
+		"ReplaceSquare": func(a args) []any { return list(impl.ReplaceSquare(a.c, a.m, a.d)) },
+		"SpiralCut":     func(a args) []any { return list(impl.SpiralCut(a.m)) },
+		"IsByLines":     func(a args) []any { return list(impl.IsByLines(a.c)) },
+		"TreeOfCut":     func(a args) []any { return list(impl.TreeOfCut(a.c)) },
+		"CutOfTree":     func(a args) []any { return list(impl.CutOfTree(a.s)) },
+		"LinesDown":     func(a args) []any { return list(impl.LinesDown(a.c)) },
+		"LinesAcross":   func(a args) []any { return list(impl.LinesAcross(a.c)) },
+		"RowOfSquares":  func(a args) []any { return list(impl.RowOfSquares(a.m)) },
+		"JoinMany":      func(a args) []any { return list(impl.JoinMany(a.cuts)) },
+	}
+}
+
 func list(results ...any) []any {
 	return results
 }
@@ -136,12 +157,13 @@ func allCalls() map[string]call {
 	maps.Copy(calls, callsOfChapter3())
 	maps.Copy(calls, callsOfChapter4())
 	maps.Copy(calls, callsOfChapter5())
+	maps.Copy(calls, callsOfChapter6())
 	return calls
 }
 
 func TestPromise11CallsAreOfAllFunctions(t *testing.T) {
-	counts := [...]int{len(callsOfChapter1()), len(callsOfChapter2()), len(callsOfChapter3()), len(callsOfChapter4()), len(callsOfChapter5())}
-	if counts != [...]int{19 + 1, 15, 16, 16, 14} {
+	counts := [...]int{len(callsOfChapter1()), len(callsOfChapter2()), len(callsOfChapter3()), len(callsOfChapter4()), len(callsOfChapter5()), len(callsOfChapter6())}
+	if counts != [...]int{19 + 1, 15, 16, 16, 14, 15} {
 		t.Error("calls", counts)
 	}
 }

@@ -56,8 +56,17 @@ func givenNumbers() [][]int {
 	return given
 }
 
+// givenLists are lists of cuts, valid and not, and such as are too long.
+func givenLists() [][]impl.Cut {
+	given := [][]impl.Cut{nil, {}, {{}}, {one}, {three, one}, {one, nine, three}, make([]impl.Cut, 100000), slices.Repeat([]impl.Cut{one}, 30), slices.Repeat([]impl.Cut{one}, 31), slices.Repeat([]impl.Cut{nine}, 100000)}
+	for _, c := range givenCuts() {
+		given = append(given, []impl.Cut{c}, []impl.Cut{c, one}, []impl.Cut{one, three, c}, []impl.Cut{c, c})
+	}
+	return given
+}
+
 func givenTexts() []string {
-	return append(noWords(), []string{
+	return append(slices.Concat(noWords(), noTrees()), []string{
 		"", ";", "x", "1x1;0,0,1", textOf(nine), "3x2;0,0,2;2,0,1;2,1,1;", "\x00\xff\xfe", "ü1x1;0,0,1", "-1x-1;0,0,-1",
 		fmt.Sprintf("%dx%d;%d,%d,%d", math.MaxInt, math.MaxInt, math.MinInt, 0, math.MaxInt),
 		strings.Repeat("9", 5000) + "x1;0,0,1", strings.Repeat(";", 5000), strings.Repeat(",", 5000), strings.Repeat("x", 5000),
@@ -67,6 +76,7 @@ func givenTexts() []string {
 		":", "2:", ":0-1", "2:0-1", "3:0-2,0-1,1-2", "3:0-1", "2:0-0", "2:-1-0", "2:0-1\x00", "\xff:0-1", "2:ü-1",
 		fmt.Sprintf("%d:%d-%d", math.MaxInt, math.MinInt, math.MaxInt),
 		strings.Repeat("9", 5000) + ":0-1", strings.Repeat(":", 5000), strings.Repeat("-", 5000), "2:" + strings.Repeat("0-1,", 5000) + "0-1",
+		"s", "bss", "bsuss", "bbsss", strings.Repeat("bs", 29) + "s", strings.Repeat("u", 29) + strings.Repeat("s", 30), strings.Repeat("bsus", 14) + "s",
 		"b", "u", "uubb", byTurns(14), byTurns(15), byTurns(16), byTurns(20), strings.Repeat("b", 20), strings.Repeat("u", 20),
 	}...)
 }
@@ -83,7 +93,7 @@ func fewInts() []int {
 
 // givenArgs differ from arguments with which most calls succeed by one argument, or by the numbers and one more.
 func givenArgs() []args {
-	plain := args{c: three, code: [][]int{{2, 1}, {1}}, other: [][]int{{1}}, net: ofThree, numbers: []int{2, 1, 1}, m: 3, n: 1, k: 3, s: "1x1;0,0,1"}
+	plain := args{c: three, d: one, cuts: []impl.Cut{three, one}, code: [][]int{{2, 1}, {1}}, other: [][]int{{1}}, net: ofThree, numbers: []int{2, 1, 1}, m: 3, n: 1, k: 3, s: "1x1;0,0,1"}
 	given := []args{{}, plain}
 	add := func(change func(a *args)) {
 		a := plain
@@ -92,6 +102,10 @@ func givenArgs() []args {
 	}
 	for _, c := range givenCuts() {
 		add(func(a *args) { a.c = c })
+		add(func(a *args) { a.d, a.m = c, 1 })
+	}
+	for _, cuts := range givenLists() {
+		add(func(a *args) { a.cuts = cuts })
 	}
 	for _, code := range givenCodes() {
 		add(func(a *args) { a.code = code })
@@ -108,6 +122,9 @@ func givenArgs() []args {
 		for _, n := range []impl.Net{{}, oneWire, chain(2, 2), chain(2, 30), net(3, 0, 1)} {
 			add(func(a *args) { a.net, a.numbers = n, numbers })
 		}
+		for _, c := range []impl.Cut{{}, one, nine, rowsOfOnes(30, 1)} {
+			add(func(a *args) { a.c, a.numbers = c, numbers })
+		}
 	}
 	for _, m := range strangeInts() {
 		for _, n := range strangeInts() {
@@ -117,6 +134,16 @@ func givenArgs() []args {
 		}
 		for _, code := range codesInOrder() {
 			add(func(a *args) { a.code, a.m = code, m })
+		}
+	}
+	for _, c := range []impl.Cut{one, three, nine, rowsOfOnes(30, 1)} {
+		for _, numbers := range noLists(len(c.Squares)) {
+			add(func(a *args) { a.c, a.numbers = c, numbers })
+		}
+		for _, d := range []impl.Cut{four, nine, grown(one, 500), rowsOfOnes(1, 30)} {
+			for _, m := range strangeInts() {
+				add(func(a *args) { a.c, a.d, a.m = c, d, m })
+			}
 		}
 	}
 	for _, m := range ratioInts() {
@@ -138,7 +165,10 @@ func givenArgs() []args {
 
 // short tells arguments, of which those that are too long are cut off.
 func short(a args) string {
-	parts := []string{textOf(impl.Cut{Width: a.c.Width, Height: a.c.Height, Squares: a.c.Squares[:min(len(a.c.Squares), 31)]})}
+	var parts []string
+	for _, c := range append([]impl.Cut{a.c, a.d}, a.cuts[:min(len(a.cuts), 4)]...) {
+		parts = append(parts, textOf(impl.Cut{Width: c.Width, Height: c.Height, Squares: c.Squares[:min(len(c.Squares), 31)]}))
+	}
 	for _, code := range [][][]int{a.code, a.other} {
 		parts = append(parts, fmt.Sprintf("%.80s", textOfCode(code[:min(len(code), 1)])))
 	}
@@ -182,9 +212,9 @@ func isSomething(r any) bool {
 }
 
 func TestPromise11NilAndEmptyAreTheSame(t *testing.T) {
-	empty := args{c: impl.Cut{Squares: []impl.Square{}}, code: [][]int{}, other: [][]int{}, net: impl.Net{Wires: []impl.Wire{}}, numbers: []int{}}
-	nilGroup := args{code: [][]int{nil}, other: [][]int{{1}, nil}}
-	emptyGroup := args{code: [][]int{{}}, other: [][]int{{1}, {}}}
+	empty := args{c: impl.Cut{Squares: []impl.Square{}}, d: impl.Cut{Squares: []impl.Square{}}, cuts: []impl.Cut{}, code: [][]int{}, other: [][]int{}, net: impl.Net{Wires: []impl.Wire{}}, numbers: []int{}}
+	nilGroup := args{code: [][]int{nil}, other: [][]int{{1}, nil}, cuts: []impl.Cut{one, {}}, c: one}
+	emptyGroup := args{code: [][]int{{}}, other: [][]int{{1}, {}}, cuts: []impl.Cut{one, {Squares: []impl.Square{}}}, c: one, numbers: []int{}}
 	for name, f := range allCalls() {
 		for _, two := range [][2]args{{{}, empty}, {nilGroup, emptyGroup}} {
 			for size := range 3 {
@@ -215,9 +245,25 @@ func roomyCode(code [][]int) [][]int {
 	return list
 }
 
+func roomyCut(c impl.Cut) impl.Cut {
+	c.Squares = roomy(c.Squares, impl.Square{X: 7, Y: 8, Side: 9}, impl.Square{X: -1, Y: 0, Side: 1}, impl.Square{Side: 1})
+	return c
+}
+
+func roomyCuts(cuts []impl.Cut) []impl.Cut {
+	list := roomy(cuts, one, impl.Cut{Width: -1})
+	for i, c := range list {
+		list[i] = roomyCut(c)
+	}
+	return list
+}
+
 // allMemory tells all that is in the memory of arguments, the room behind the lists too.
 func allMemory(a args) string {
-	text := fmt.Sprint(a.c.Squares[:cap(a.c.Squares)], a.net.Wires[:cap(a.net.Wires)], a.numbers[:cap(a.numbers)])
+	text := fmt.Sprint(a.c.Squares[:cap(a.c.Squares)], a.d.Squares[:cap(a.d.Squares)], a.net.Wires[:cap(a.net.Wires)], a.numbers[:cap(a.numbers)])
+	for _, c := range a.cuts[:cap(a.cuts)] {
+		text += fmt.Sprint(c.Width, c.Height, c.Squares[:cap(c.Squares)])
+	}
 	for _, code := range [][][]int{a.code, a.other} {
 		for _, group := range code[:cap(code)] {
 			text += fmt.Sprint(group[:cap(group)])
@@ -231,6 +277,10 @@ func plainArgs() []args {
 	var given []args
 	for _, c := range append(cutsOfSize(3, 3), three, nine, split, through, rowsOfOnes(6, 5), cut(3, 2, 2, 1, 1, 2, 0, 1, 0, 0, 2), cut(3, 2, 0, 0, 2), impl.Cut{}) {
 		given = append(given, args{c: c, m: 1, n: 1, s: textOf(c)})
+		given = append(given, args{c: c, d: four, cuts: []impl.Cut{c}, numbers: []int{0, 1}, m: 0}, args{c: four, d: c, cuts: []impl.Cut{one, c, three}, numbers: []int{1, 3}, m: 3})
+	}
+	for _, tree := range []string{"s", "bsuss", "bbsss", "ubssbss", "bsu"} {
+		given = append(given, args{c: three, d: one, cuts: []impl.Cut{three, one, three}, numbers: []int{1, 2}, m: 2, s: tree}, args{c: three, numbers: []int{2, 1}, m: 12, s: tree})
 	}
 	for _, code := range append(codesInOrder(), [][]int{{2, 1}}, [][]int{{1}, nil}, [][]int{{}}, nil) {
 		sides := slices.Concat(code...)
@@ -255,7 +305,7 @@ func TestPromise11ArgumentsAreNotModifiedAndNotShared(t *testing.T) {
 	for name, f := range allCalls() {
 		for _, plain := range plainArgs() {
 			a := plain
-			a.c.Squares = roomy(plain.c.Squares, impl.Square{X: 7, Y: 8, Side: 9}, impl.Square{X: -1, Y: 0, Side: 1}, impl.Square{Side: 1})
+			a.c, a.d, a.cuts = roomyCut(plain.c), roomyCut(plain.d), roomyCuts(plain.cuts)
 			a.code, a.other, a.numbers = roomyCode(plain.code), roomyCode(plain.other), roomy(plain.numbers, 1, 7)
 			a.net.Wires = roomy(plain.net.Wires, impl.Wire{From: 0, To: 1}, impl.Wire{From: 7, To: -1})
 			before := allMemory(a)
@@ -313,12 +363,19 @@ func TestPromise11SlicesOfOneResultShareNoMemory(t *testing.T) {
 	}
 	for name, f := range allCalls() {
 		for _, a := range given {
+			// Several cuts may be one result each, or one result together.
+			var cuts []impl.Cut
 			for _, r := range called(t, name, f, a) {
-				lists, _ := r.([][]int)
-				shareNothing(t, name, lists, func(inner []int) { fillAll(inner, -77) })
-				cuts, _ := r.([]impl.Cut)
-				shareNothing(t, name, cuts, func(inner impl.Cut) { fillAll(inner.Squares, impl.Square{X: -77}) })
+				switch x := r.(type) {
+				case [][]int:
+					shareNothing(t, name, x, func(inner []int) { fillAll(inner, -77) })
+				case []impl.Cut:
+					cuts = append(cuts, x...)
+				case impl.Cut:
+					cuts = append(cuts, x)
+				}
 			}
+			shareNothing(t, name, cuts, func(inner impl.Cut) { fillAll(inner.Squares, impl.Square{X: -77}) })
 		}
 	}
 }
