@@ -147,6 +147,25 @@ func callsOfChapter6() map[string]call {
 	}
 }
 
+func callsOfChapter7() map[string]call {
+	return map[string]call{
+		"CountCuts":         func(a args) []any { return list(impl.CountCuts(a.m, a.n)) },
+		"CutsBySquares":     func(a args) []any { return list(impl.CutsBySquares(a.m, a.n)) },
+		"CutsWithMost":      func(a args) []any { return list(impl.CutsWithMost(a.m, a.n, a.k)) },
+		"AllCuts":           func(a args) []any { return list(impl.AllCuts(a.m, a.n)) },
+		"CutOfRank":         func(a args) []any { return list(impl.CutOfRank(a.m, a.n, a.k)) },
+		"RankOfCut":         func(a args) []any { return list(impl.RankOfCut(a.c)) },
+		"CountTurned":       func(a args) []any { return list(impl.CountTurned(a.m, a.n)) },
+		"FirstTurns":        func(a args) []any { return list(impl.FirstTurns(a.m, a.n)) },
+		"CountMirrored":     func(a args) []any { return list(impl.CountMirrored(a.m, a.n)) },
+		"SideLists":         func(a args) []any { return list(impl.SideLists(a.m, a.n)) },
+		"CountWithSides":    func(a args) []any { return list(impl.CountWithSides(a.m, a.n, a.numbers)) },
+		"CountSimple":       func(a args) []any { return list(impl.CountSimple(a.m, a.n)) },
+		"CountWithoutCross": func(a args) []any { return list(impl.CountWithoutCross(a.m, a.n)) },
+		"MeanOfCuts":        func(a args) []any { return list(impl.MeanOfCuts(a.m, a.n)) },
+	}
+}
+
 func list(results ...any) []any {
 	return results
 }
@@ -158,12 +177,13 @@ func allCalls() map[string]call {
 	maps.Copy(calls, callsOfChapter4())
 	maps.Copy(calls, callsOfChapter5())
 	maps.Copy(calls, callsOfChapter6())
+	maps.Copy(calls, callsOfChapter7())
 	return calls
 }
 
 func TestPromise11CallsAreOfAllFunctions(t *testing.T) {
-	counts := [...]int{len(callsOfChapter1()), len(callsOfChapter2()), len(callsOfChapter3()), len(callsOfChapter4()), len(callsOfChapter5()), len(callsOfChapter6())}
-	if counts != [...]int{19 + 1, 15, 16, 16, 14, 15} {
+	counts := [...]int{len(callsOfChapter1()), len(callsOfChapter2()), len(callsOfChapter3()), len(callsOfChapter4()), len(callsOfChapter5()), len(callsOfChapter6()), len(callsOfChapter7())}
+	if counts != [...]int{19 + 1, 15, 16, 16, 14, 15, 14} {
 		t.Error("calls", counts)
 	}
 }

@@ -91,6 +91,11 @@ func fewInts() []int {
 	return append(strangeInts(), 8, 9, 10, 12, 13, 14, 59, 60, 61)
 }
 
+// countInts are numbers around the limits of widths, heights, products, sides and ranks of cuts that are counted or listed.
+func countInts() []int {
+	return []int{math.MinInt, -1, 0, 1, 2, 3, 4, 5, 6, 7, 8, 16, 17, 39, 40, 41, 1 << 32, 1 << 62, math.MaxInt}
+}
+
 // givenArgs differ from arguments with which most calls succeed by one argument, or by the numbers and one more.
 func givenArgs() []args {
 	plain := args{c: three, d: one, cuts: []impl.Cut{three, one}, code: [][]int{{2, 1}, {1}}, other: [][]int{{1}}, net: ofThree, numbers: []int{2, 1, 1}, m: 3, n: 1, k: 3, s: "1x1;0,0,1"}
@@ -155,6 +160,19 @@ func givenArgs() []args {
 	for _, m := range fewInts() {
 		for _, n := range fewInts() {
 			add(func(a *args) { a.m, a.n = m, n })
+		}
+	}
+	for _, m := range countInts() {
+		for _, n := range countInts() {
+			add(func(a *args) { a.m, a.n = m, n })
+		}
+		for _, size := range [][2]int{{3, 2}, {4, 4}, {6, 3}, {7, 2}} {
+			add(func(a *args) { a.m, a.n, a.k = size[0], size[1], m })
+		}
+	}
+	for _, size := range [][2]int{{1, 1}, {3, 2}, {4, 4}, {6, 3}, {7, 2}} {
+		for _, numbers := range slices.Concat(givenNumbers(), noSideLists(), [][]int{slices.Repeat([]int{1}, 16), {1, 2, 1}, {6}}) {
+			add(func(a *args) { a.m, a.n, a.numbers = size[0], size[1], numbers })
 		}
 	}
 	for _, s := range givenTexts() {
@@ -294,6 +312,11 @@ func plainArgs() []args {
 	}
 	for _, size := range [][2]int{{1, 1}, {5, 2}, {2, 5}, {9, 8}, {8, 7}, {7, 8}, {13, 11}, {13, 13}, {1, 13}, {31, 1}, {60, 59}, {60, 60}} {
 		given = append(given, args{m: size[0], n: size[1]})
+	}
+	for _, size := range [][2]int{{2, 2}, {3, 2}, {4, 4}, {6, 2}, {3, 5}, {6, 1}, {6, 3}, {6, 6}, {7, 2}} {
+		for _, numbers := range [][]int{{1, 2, 1}, {1, 1, 2, 1, 2, 1, 2}, {0}, nil} {
+			given = append(given, args{m: size[0], n: size[1], k: len(numbers) - 1, numbers: numbers})
+		}
 	}
 	for _, numbers := range [][]int{{1}, {2, 3}, {3, 2, 2}, {333, 3}, {2, 1}, {501, 2}, {0}} {
 		given = append(given, args{numbers: numbers, m: 7, n: 3, k: 5, s: "uubb"}, args{numbers: numbers, m: 3, n: 2, k: 5, s: "b"}, args{numbers: numbers, m: 8, n: 1000, k: 1, s: byTurns(20)})
