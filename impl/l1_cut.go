@@ -42,11 +42,15 @@ func IsCut(c Cut) bool {
 }
 
 func isLength(n int) bool {
-	return areUpTo(MaxWide, n, n)
+	return isUpTo(MaxWide, n)
+}
+
+func isUpTo(most int, n int) bool {
+	return 1 <= n && n <= most
 }
 
 func areUpTo(most int, width int, height int) bool {
-	return 1 <= min(width, height) && max(width, height) <= most
+	return isUpTo(most, width) && isUpTo(most, height)
 }
 
 // isWithin takes the side from the length, as adding it to a place that may be any number could wrap around.

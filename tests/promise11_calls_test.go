@@ -166,6 +166,25 @@ func callsOfChapter7() map[string]call {
 	}
 }
 
+func callsOfChapter8() map[string]call {
+	return map[string]call{
+		"CountStrips":        func(a args) []any { return list(impl.CountStrips(a.m, a.n)) },
+		"StripsBySquares":    func(a args) []any { return list(impl.StripsBySquares(a.m, a.n)) },
+		"CountStripsWithout": func(a args) []any { return list(impl.CountStripsWithout(a.m, a.n, a.k)) },
+		"SquaresOfSide":      func(a args) []any { return list(impl.SquaresOfSide(a.m, a.n, a.k)) },
+		"MeanSquares":        func(a args) []any { return list(impl.MeanSquares(a.m, a.n)) },
+		"FewestInStrip":      func(a args) []any { return list(impl.FewestInStrip(a.m, a.n)) },
+		"AllStrips":          func(a args) []any { return list(impl.AllStrips(a.m, a.n)) },
+		"FillSides":          func(a args) []any { return list(impl.FillSides(a.c)) },
+		"CutOfFill":          func(a args) []any { return list(impl.CutOfFill(a.m, a.numbers)) },
+		"RankOfStrip":        func(a args) []any { return list(impl.RankOfStrip(a.c)) },
+		"StripOfRank":        func(a args) []any { return list(impl.StripOfRank(a.m, a.n, a.k)) },
+		"CountWholeStrips":   func(a args) []any { return list(impl.CountWholeStrips(a.m, a.n)) },
+		"IsWholeStrip":       func(a args) []any { return list(impl.IsWholeStrip(a.c)) },
+		"StripsThrough":      func(a args) []any { return list(impl.StripsThrough(a.m, a.n, a.k)) },
+	}
+}
+
 func list(results ...any) []any {
 	return results
 }
@@ -178,12 +197,13 @@ func allCalls() map[string]call {
 	maps.Copy(calls, callsOfChapter5())
 	maps.Copy(calls, callsOfChapter6())
 	maps.Copy(calls, callsOfChapter7())
+	maps.Copy(calls, callsOfChapter8())
 	return calls
 }
 
 func TestPromise11CallsAreOfAllFunctions(t *testing.T) {
-	counts := [...]int{len(callsOfChapter1()), len(callsOfChapter2()), len(callsOfChapter3()), len(callsOfChapter4()), len(callsOfChapter5()), len(callsOfChapter6()), len(callsOfChapter7())}
-	if counts != [...]int{19 + 1, 15, 16, 16, 14, 15, 14} {
+	counts := [...]int{len(callsOfChapter1()), len(callsOfChapter2()), len(callsOfChapter3()), len(callsOfChapter4()), len(callsOfChapter5()), len(callsOfChapter6()), len(callsOfChapter7()), len(callsOfChapter8())}
+	if counts != [...]int{19 + 1, 15, 16, 16, 14, 15, 14, 14} {
 		t.Error("calls", counts)
 	}
 }

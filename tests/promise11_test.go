@@ -96,6 +96,25 @@ func countInts() []int {
 	return []int{math.MinInt, -1, 0, 1, 2, 3, 4, 5, 6, 7, 8, 16, 17, 39, 40, 41, 1 << 32, 1 << 62, math.MaxInt}
 }
 
+// stripInts are numbers around the limits of heights, lengths, sides, places and ranks of strips.
+func stripInts() []int {
+	return []int{math.MinInt, math.MinInt + 1, -1, 0, 1, 2, 3, 4, 5, 8, 10, 11, 15, 16, 29, 30, 31, 88, 89, 1346268, 1346269, 72003911101088, 72003911101089, 1 << 32, 1<<32 + 1, 1 << 62, math.MaxInt - 1, math.MaxInt}
+}
+
+// stripSizes are heights and lengths of strips, and such as exceed a limit by one: of the last three strips there are more than are listed.
+func stripSizes() [][2]int {
+	return [][2]int{{1, 1}, {1, 30}, {2, 1}, {2, 3}, {2, 30}, {3, 2}, {3, 10}, {4, 1}, {4, 4}, {4, 7}, {4, 30}, {0, 1}, {1, 0}, {5, 1}, {5, 30}, {1, 31}, {4, 31}, {2, 11}, {3, 7}, {4, 5}}
+}
+
+// givenFills are lists of sides with which strips are filled, or are not.
+func givenFills() [][]int {
+	fills := slices.Concat(givenNumbers(), noFills(), sidesUpTo(3))
+	for _, c := range append(longStrips(), noStrips()[len(noCuts()):]...) {
+		fills = append(fills, fillSidesByCells(c))
+	}
+	return fills
+}
+
 // givenArgs differ from arguments with which most calls succeed by one argument, or by the numbers and one more.
 func givenArgs() []args {
 	plain := args{c: three, d: one, cuts: []impl.Cut{three, one}, code: [][]int{{2, 1}, {1}}, other: [][]int{{1}}, net: ofThree, numbers: []int{2, 1, 1}, m: 3, n: 1, k: 3, s: "1x1;0,0,1"}
@@ -173,6 +192,22 @@ func givenArgs() []args {
 	for _, size := range [][2]int{{1, 1}, {3, 2}, {4, 4}, {6, 3}, {7, 2}} {
 		for _, numbers := range slices.Concat(givenNumbers(), noSideLists(), [][]int{slices.Repeat([]int{1}, 16), {1, 2, 1}, {6}}) {
 			add(func(a *args) { a.m, a.n, a.numbers = size[0], size[1], numbers })
+		}
+	}
+	for _, m := range stripInts() {
+		for _, n := range stripInts() {
+			add(func(a *args) { a.m, a.n, a.k = m, n, 1 })
+		}
+		for _, size := range stripSizes() {
+			add(func(a *args) { a.m, a.n, a.k = size[0], size[1], m })
+		}
+	}
+	for _, c := range append(longStrips(), noStrips()...) {
+		add(func(a *args) { a.c = c })
+	}
+	for _, numbers := range givenFills() {
+		for height := 0; height <= 5; height++ {
+			add(func(a *args) { a.m, a.numbers = height, numbers })
 		}
 	}
 	for _, s := range givenTexts() {
@@ -317,6 +352,12 @@ func plainArgs() []args {
 		for _, numbers := range [][]int{{1, 2, 1}, {1, 1, 2, 1, 2, 1, 2}, {0}, nil} {
 			given = append(given, args{m: size[0], n: size[1], k: len(numbers) - 1, numbers: numbers})
 		}
+	}
+	for _, size := range stripSizes() {
+		given = append(given, args{m: size[0], n: size[1], k: 1}, args{m: size[0], n: size[1], k: 4})
+	}
+	for _, c := range append(longStrips(), cut(3, 3, 0, 0, 1, 1, 0, 2, 0, 1, 1, 0, 2, 1, 1, 2, 1, 2, 2, 1), grown(one, 4), grown(one, 5)) {
+		given = append(given, args{c: c, m: c.Height, n: c.Width, numbers: fillSidesByCells(c)})
 	}
 	for _, numbers := range [][]int{{1}, {2, 3}, {3, 2, 2}, {333, 3}, {2, 1}, {501, 2}, {0}} {
 		given = append(given, args{numbers: numbers, m: 7, n: 3, k: 5, s: "uubb"}, args{numbers: numbers, m: 3, n: 2, k: 5, s: "b"}, args{numbers: numbers, m: 8, n: 1000, k: 1, s: byTurns(20)})
