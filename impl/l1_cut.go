@@ -403,11 +403,20 @@ func CutText(c Cut) (string, bool) {
 	if !IsCut(c) {
 		return "", false
 	}
-	fields := []string{strconv.Itoa(c.Width) + "x" + strconv.Itoa(c.Height)}
+	fields := []string{numbersText("x", c.Width, c.Height)}
 	for _, s := range c.Squares {
-		fields = append(fields, strconv.Itoa(s.X)+","+strconv.Itoa(s.Y)+","+strconv.Itoa(s.Side))
+		fields = append(fields, numbersText(",", s.X, s.Y, s.Side))
 	}
 	return strings.Join(fields, ";"), true
+}
+
+// numbersText returns numbers with a mark between them.
+func numbersText(mark string, numbers ...int) string {
+	fields := make([]string, len(numbers))
+	for i, n := range numbers {
+		fields[i] = strconv.Itoa(n)
+	}
+	return strings.Join(fields, mark)
 }
 
 // ParseCut returns the cut with a CutText. It fails if there is none.

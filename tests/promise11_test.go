@@ -66,7 +66,7 @@ func givenLists() [][]impl.Cut {
 }
 
 func givenTexts() []string {
-	return append(slices.Concat(noWords(), noTrees()), []string{
+	return append(slices.Concat(noWords(), noTrees(), somePuzzleTexts()), []string{
 		"", ";", "x", "1x1;0,0,1", textOf(nine), "3x2;0,0,2;2,0,1;2,1,1;", "\x00\xff\xfe", "ü1x1;0,0,1", "-1x-1;0,0,-1",
 		fmt.Sprintf("%dx%d;%d,%d,%d", math.MaxInt, math.MaxInt, math.MinInt, 0, math.MaxInt),
 		strings.Repeat("9", 5000) + "x1;0,0,1", strings.Repeat(";", 5000), strings.Repeat(",", 5000), strings.Repeat("x", 5000),
@@ -115,9 +115,49 @@ func givenFills() [][]int {
 	return fills
 }
 
+// givenPuzzles are puzzles of many kinds, and such as are none: by their sizes, by too many clues, or by one clue.
+func givenPuzzles() []impl.Puzzle {
+	given := []impl.Puzzle{puzzle(1, 1), puzzle(4, 3), puzzle(6, 2), firstOnly, ofExample, noOneHas, allKinds, puzzle(4, 3, slices.Repeat([]impl.Clue{clue(1, 3, 1)}, 6)...), puzzle(4, 3, slices.Repeat([]impl.Clue{clue(1, 3, 1)}, 7)...), puzzle(3, 2, make([]impl.Clue, 100000)...), puzzle(3, 2, slices.Repeat([]impl.Clue{clue(0, 3, 0)}, 100000)...)}
+	for _, size := range noHiddenSizes() {
+		given = append(given, puzzle(size[0], size[1]), puzzle(size[0], size[1], clue(2, 0, 1)))
+	}
+	for _, c := range givenClues() {
+		given = append(given, puzzle(3, 2, c), puzzle(3, 2, clue(0, 3, 0), c, clue(2, 0, 2)), puzzle(6, 2, append(slices.Clone(allKinds.Clues[:5]), c)...))
+	}
+	return given
+}
+
+// givenClues are clues of all kinds with their numbers at the limits, and such as exceed a limit by one or by far.
+func givenClues() []impl.Clue {
+	var given []impl.Clue
+	for kind := range 6 {
+		for _, n := range []int{-1, 0, 1, 3, 4, 5, 6, 7, 11, 12, 13} {
+			given = append(given, clue(kind, n, 0), clue(kind, n, 1), clue(kind, 1, n))
+		}
+		for _, n := range []int{math.MinInt, math.MinInt + 1, -1 << 32, 1 << 32, 1<<32 + 1, 1 << 62, math.MaxInt - 1, math.MaxInt} {
+			given = append(given, clue(kind, n, 0), clue(kind, 1, n), clue(kind, n, n), clue(n, 1, 0))
+		}
+	}
+	for _, kind := range []int{-2, -1, 6, 7} {
+		given = append(given, clue(kind, 0, 0), clue(kind, 1, 0), clue(kind, 1, 1))
+	}
+	return given
+}
+
+// somePuzzleTexts are few enough for all calls.
+func somePuzzleTexts() []string {
+	texts := []string{"1x1:", "4x3:", "3x2:0.3.0,2.0.2", "3x2:0.1.0", textOfPuzzle(allKinds), textOfPuzzle(allKinds) + ",0.3.0"}
+	for k, s := range noPuzzleTexts() {
+		if k < 100 || k%29 == 0 {
+			texts = append(texts, s)
+		}
+	}
+	return texts
+}
+
 // givenArgs differ from arguments with which most calls succeed by one argument, or by the numbers and one more.
 func givenArgs() []args {
-	plain := args{c: three, d: one, cuts: []impl.Cut{three, one}, code: [][]int{{2, 1}, {1}}, other: [][]int{{1}}, net: ofThree, numbers: []int{2, 1, 1}, m: 3, n: 1, k: 3, s: "1x1;0,0,1"}
+	plain := args{c: three, d: one, cuts: []impl.Cut{three, one}, code: [][]int{{2, 1}, {1}}, other: [][]int{{1}}, net: ofThree, puzzle: ofExample, clue: clue(2, 0, 2), numbers: []int{2, 1, 1}, m: 3, n: 1, k: 3, s: "1x1;0,0,1"}
 	given := []args{{}, plain}
 	add := func(change func(a *args)) {
 		a := plain
@@ -210,10 +250,38 @@ func givenArgs() []args {
 			add(func(a *args) { a.m, a.numbers = height, numbers })
 		}
 	}
+	addForPuzzles(add)
 	for _, s := range givenTexts() {
 		add(func(a *args) { a.s = s })
 	}
 	return given
+}
+
+// addForPuzzles adds arguments of which clues, puzzles, hidden cuts, indices of clues, numbers of clues or seeds are changed.
+func addForPuzzles(add func(change func(a *args))) {
+	for _, p := range givenPuzzles() {
+		add(func(a *args) { a.puzzle, a.m = p, 0 })
+	}
+	for _, c := range givenClues() {
+		add(func(a *args) { a.clue, a.m, a.n = c, 3, 2 })
+		add(func(a *args) { a.clue, a.c, a.puzzle = c, four, puzzle(2, 2) })
+	}
+	for _, c := range append(noHidden()[len(noCuts()):], rowsOfOnes(6, 2), rowsOfOnes(4, 3), rowsOfOnes(2, 6)) {
+		add(func(a *args) { a.c = c })
+	}
+	for _, size := range append(noHiddenSizes()[:20], [2]int{4, 3}, [2]int{6, 2}, [2]int{7, 1}, [2]int{5, 3}) {
+		add(func(a *args) { a.clue, a.m, a.n = clue(2, 11, 1), size[0], size[1] })
+	}
+	// Numbers of clues and seeds, with and without a cut that is hidden; indices of clues.
+	for _, m := range append(countInts(), 9998, 9999, 10000, 10007) {
+		for _, n := range append(countInts(), 9998, 9999, 10000, 10007) {
+			add(func(a *args) { a.m, a.n = m, n })
+			add(func(a *args) { a.c, a.m, a.n = nine, m, n })
+		}
+		for _, p := range []impl.Puzzle{{}, puzzle(3, 2), ofExample, allKinds} {
+			add(func(a *args) { a.puzzle, a.m = p, m })
+		}
+	}
 }
 
 // short tells arguments, of which those that are too long are cut off.
@@ -225,7 +293,8 @@ func short(a args) string {
 	for _, code := range [][][]int{a.code, a.other} {
 		parts = append(parts, fmt.Sprintf("%.80s", textOfCode(code[:min(len(code), 1)])))
 	}
-	return fmt.Sprintf("%v %.200s %v %d %d %d %.80q", parts, textOfNet(a.net), a.numbers[:min(len(a.numbers), 31)], a.m, a.n, a.k, a.s)
+	p := puzzle(a.puzzle.Width, a.puzzle.Height, a.puzzle.Clues[:min(len(a.puzzle.Clues), 7)]...)
+	return fmt.Sprintf("%v %.200s %s %v %v %d %d %d %.80q", parts, textOfNet(a.net), textOfPuzzle(p), a.clue, a.numbers[:min(len(a.numbers), 31)], a.m, a.n, a.k, a.s)
 }
 
 // called reports a panic and returns no results then.
@@ -259,13 +328,15 @@ func isSomething(r any) bool {
 		return !zero(x)
 	case impl.Net:
 		return !zeroNet(x)
+	case impl.Puzzle:
+		return !zeroPuzzle(x)
 	}
 	v := reflect.ValueOf(r)
 	return !v.IsZero() && (v.Kind() != reflect.Slice || v.Len() > 0)
 }
 
 func TestPromise11NilAndEmptyAreTheSame(t *testing.T) {
-	empty := args{c: impl.Cut{Squares: []impl.Square{}}, d: impl.Cut{Squares: []impl.Square{}}, cuts: []impl.Cut{}, code: [][]int{}, other: [][]int{}, net: impl.Net{Wires: []impl.Wire{}}, numbers: []int{}}
+	empty := args{c: impl.Cut{Squares: []impl.Square{}}, d: impl.Cut{Squares: []impl.Square{}}, cuts: []impl.Cut{}, code: [][]int{}, other: [][]int{}, net: impl.Net{Wires: []impl.Wire{}}, puzzle: impl.Puzzle{Clues: []impl.Clue{}}, numbers: []int{}}
 	nilGroup := args{code: [][]int{nil}, other: [][]int{{1}, nil}, cuts: []impl.Cut{one, {}}, c: one}
 	emptyGroup := args{code: [][]int{{}}, other: [][]int{{1}, {}}, cuts: []impl.Cut{one, {Squares: []impl.Square{}}}, c: one, numbers: []int{}}
 	for name, f := range allCalls() {
@@ -274,6 +345,7 @@ func TestPromise11NilAndEmptyAreTheSame(t *testing.T) {
 				var results [2][]any
 				for i, a := range two {
 					a.c.Width, a.c.Height, a.net.Nodes, a.m, a.n = size, size, size, size, size+1
+					a.puzzle.Width, a.puzzle.Height, a.clue = size, size, clue(0, 1, 0)
 					results[i] = called(t, name, f, a)
 				}
 				if !reflect.DeepEqual(results[0], results[1]) {
@@ -313,7 +385,7 @@ func roomyCuts(cuts []impl.Cut) []impl.Cut {
 
 // allMemory tells all that is in the memory of arguments, the room behind the lists too.
 func allMemory(a args) string {
-	text := fmt.Sprint(a.c.Squares[:cap(a.c.Squares)], a.d.Squares[:cap(a.d.Squares)], a.net.Wires[:cap(a.net.Wires)], a.numbers[:cap(a.numbers)])
+	text := fmt.Sprint(a.c.Squares[:cap(a.c.Squares)], a.d.Squares[:cap(a.d.Squares)], a.net.Wires[:cap(a.net.Wires)], a.puzzle.Clues[:cap(a.puzzle.Clues)], a.numbers[:cap(a.numbers)])
 	for _, c := range a.cuts[:cap(a.cuts)] {
 		text += fmt.Sprint(c.Width, c.Height, c.Squares[:cap(c.Squares)])
 	}
@@ -359,6 +431,11 @@ func plainArgs() []args {
 	for _, c := range append(longStrips(), cut(3, 3, 0, 0, 1, 1, 0, 2, 0, 1, 1, 0, 2, 1, 1, 2, 1, 2, 2, 1), grown(one, 4), grown(one, 5)) {
 		given = append(given, args{c: c, m: c.Height, n: c.Width, numbers: fillSidesByCells(c)})
 	}
+	for _, p := range []impl.Puzzle{puzzle(1, 1), puzzle(4, 3), puzzle(2, 2), firstOnly, ofExample, noOneHas, allKinds, puzzle(3, 2, allKinds.Clues[:5]...), puzzle(3, 2, append(slices.Clone(allKinds.Clues), clue(0, 3, 0))...), puzzle(3, 2, clue(6, 0, 0)), puzzle(3, 2, clue(2, 0, 2), clue(-1, 0, 0)), puzzle(7, 1), {}} {
+		for _, own := range []impl.Clue{clue(5, 2, 0), clue(2, 0, 1), clue(6, 0, 0)} {
+			given = append(given, args{c: three, puzzle: p, clue: own, m: 0, n: 9999, s: textOfPuzzle(p)}, args{c: rowsOfOnes(6, 2), puzzle: p, clue: own, m: len(p.Clues) - 1, n: 0}, args{c: four, puzzle: p, clue: own, m: 6, n: 2})
+		}
+	}
 	for _, numbers := range [][]int{{1}, {2, 3}, {3, 2, 2}, {333, 3}, {2, 1}, {501, 2}, {0}} {
 		given = append(given, args{numbers: numbers, m: 7, n: 3, k: 5, s: "uubb"}, args{numbers: numbers, m: 3, n: 2, k: 5, s: "b"}, args{numbers: numbers, m: 8, n: 1000, k: 1, s: byTurns(20)})
 	}
@@ -372,6 +449,7 @@ func TestPromise11ArgumentsAreNotModifiedAndNotShared(t *testing.T) {
 			a.c, a.d, a.cuts = roomyCut(plain.c), roomyCut(plain.d), roomyCuts(plain.cuts)
 			a.code, a.other, a.numbers = roomyCode(plain.code), roomyCode(plain.other), roomy(plain.numbers, 1, 7)
 			a.net.Wires = roomy(plain.net.Wires, impl.Wire{From: 0, To: 1}, impl.Wire{From: 7, To: -1})
+			a.puzzle.Clues = roomy(plain.puzzle.Clues, clue(0, 3, 0), clue(7, -1, 7))
 			before := allMemory(a)
 			first := called(t, name, f, a)
 			if allMemory(a) != before {
@@ -397,6 +475,8 @@ func overwrite(results []any) {
 			fillAll(x.Squares, impl.Square{X: 77, Y: 77, Side: 77})
 		case impl.Net:
 			fillAll(x.Wires, impl.Wire{From: 77, To: 77})
+		case impl.Puzzle:
+			fillAll(x.Clues, clue(77, 77, 77))
 		case []impl.Cut:
 			for _, inner := range x {
 				fillAll(inner.Squares, impl.Square{X: 77, Y: 77, Side: 77})
