@@ -155,9 +155,30 @@ func somePuzzleTexts() []string {
 	return texts
 }
 
+// givenScripts are lines and scripts of many kinds, and such as are too long, have too many lines, or no newline at the end.
+func givenScripts() []string {
+	given := slices.Concat(noLines(), noScripts(), []string{"\n", "\n\n", "keep\n", "swap\n", "turn\r\n", "\xff\n", "\x00\n\xfe\n", "turn\n" + strings.Repeat("x", 2994) + "\n", strings.Repeat("\n", 50), strings.Repeat("put 1\n", 50), strings.Repeat("keep\nbeside\n", 25), strings.Repeat("into 0\n", 50)})
+	for k, line := range plainLines() {
+		if k%11 == 0 || k < 100 {
+			given = append(given, line, line+"\n", "greedy 13 8\nkeep\n"+line+"\n"+line+"\nby\n")
+		}
+	}
+	for k, lines := range someScripts() {
+		if k%9 == 0 {
+			given = append(given, scriptOf(lines...))
+		}
+	}
+	return given
+}
+
+// linesOfDesks are few enough for all desks: what they make of a cut needs all of its numbers.
+func linesOfDesks() []string {
+	return slices.Concat(wordsOfLines()[0], []string{"grow 2", "put 0", "put 1", "into 0", "into 29", "word b", "tree s", "greedy 3 2", "quot 7 3", "fly", ""})
+}
+
 // givenArgs differ from arguments with which most calls succeed by one argument, or by the numbers and one more.
 func givenArgs() []args {
-	plain := args{c: three, d: one, cuts: []impl.Cut{three, one}, code: [][]int{{2, 1}, {1}}, other: [][]int{{1}}, net: ofThree, puzzle: ofExample, clue: clue(2, 0, 2), numbers: []int{2, 1, 1}, m: 3, n: 1, k: 3, s: "1x1;0,0,1"}
+	plain := args{c: three, d: one, cuts: []impl.Cut{three, one}, code: [][]int{{2, 1}, {1}}, other: [][]int{{1}}, net: ofThree, puzzle: ofExample, clue: clue(2, 0, 2), desk: desk(three, four), numbers: []int{2, 1, 1}, m: 3, n: 1, k: 3, s: "1x1;0,0,1"}
 	given := []args{{}, plain}
 	add := func(change func(a *args)) {
 		a := plain
@@ -251,10 +272,30 @@ func givenArgs() []args {
 		}
 	}
 	addForPuzzles(add)
-	for _, s := range givenTexts() {
+	for _, s := range slices.Concat(givenTexts(), givenScripts()) {
 		add(func(a *args) { a.s = s })
 	}
+	addForDesks(add)
 	return given
+}
+
+// addForDesks adds desks of which one cut, or both, may be none, each with some lines.
+func addForDesks(add func(change func(a *args))) {
+	lines := linesOfDesks()
+	for k, c := range givenCuts() {
+		for i, line := range lines {
+			if k < 100 || i%20 == k%20 {
+				add(func(a *args) { a.desk, a.s = desk(c, one), line })
+				add(func(a *args) { a.desk, a.s = desk(three, c), line })
+				add(func(a *args) { a.desk, a.s = desk(c, c), line })
+			}
+		}
+	}
+	for _, d := range someDesks() {
+		for _, line := range lines {
+			add(func(a *args) { a.desk, a.s = d, line })
+		}
+	}
 }
 
 // addForPuzzles adds arguments of which clues, puzzles, hidden cuts, indices of clues, numbers of clues or seeds are changed.
@@ -287,7 +328,7 @@ func addForPuzzles(add func(change func(a *args))) {
 // short tells arguments, of which those that are too long are cut off.
 func short(a args) string {
 	var parts []string
-	for _, c := range append([]impl.Cut{a.c, a.d}, a.cuts[:min(len(a.cuts), 4)]...) {
+	for _, c := range append([]impl.Cut{a.c, a.d, a.desk.Cut, a.desk.Kept}, a.cuts[:min(len(a.cuts), 4)]...) {
 		parts = append(parts, textOf(impl.Cut{Width: c.Width, Height: c.Height, Squares: c.Squares[:min(len(c.Squares), 31)]}))
 	}
 	for _, code := range [][][]int{a.code, a.other} {
@@ -330,13 +371,15 @@ func isSomething(r any) bool {
 		return !zeroNet(x)
 	case impl.Puzzle:
 		return !zeroPuzzle(x)
+	case impl.Desk:
+		return !zeroDesk(x)
 	}
 	v := reflect.ValueOf(r)
 	return !v.IsZero() && (v.Kind() != reflect.Slice || v.Len() > 0)
 }
 
 func TestPromise11NilAndEmptyAreTheSame(t *testing.T) {
-	empty := args{c: impl.Cut{Squares: []impl.Square{}}, d: impl.Cut{Squares: []impl.Square{}}, cuts: []impl.Cut{}, code: [][]int{}, other: [][]int{}, net: impl.Net{Wires: []impl.Wire{}}, puzzle: impl.Puzzle{Clues: []impl.Clue{}}, numbers: []int{}}
+	empty := args{c: impl.Cut{Squares: []impl.Square{}}, d: impl.Cut{Squares: []impl.Square{}}, cuts: []impl.Cut{}, code: [][]int{}, other: [][]int{}, net: impl.Net{Wires: []impl.Wire{}}, puzzle: impl.Puzzle{Clues: []impl.Clue{}}, desk: desk(impl.Cut{Squares: []impl.Square{}}, impl.Cut{Squares: []impl.Square{}}), numbers: []int{}}
 	nilGroup := args{code: [][]int{nil}, other: [][]int{{1}, nil}, cuts: []impl.Cut{one, {}}, c: one}
 	emptyGroup := args{code: [][]int{{}}, other: [][]int{{1}, {}}, cuts: []impl.Cut{one, {Squares: []impl.Square{}}}, c: one, numbers: []int{}}
 	for name, f := range allCalls() {
@@ -375,6 +418,10 @@ func roomyCut(c impl.Cut) impl.Cut {
 	return c
 }
 
+func roomyDesk(d impl.Desk) impl.Desk {
+	return desk(roomyCut(d.Cut), roomyCut(d.Kept))
+}
+
 func roomyCuts(cuts []impl.Cut) []impl.Cut {
 	list := roomy(cuts, one, impl.Cut{Width: -1})
 	for i, c := range list {
@@ -385,7 +432,7 @@ func roomyCuts(cuts []impl.Cut) []impl.Cut {
 
 // allMemory tells all that is in the memory of arguments, the room behind the lists too.
 func allMemory(a args) string {
-	text := fmt.Sprint(a.c.Squares[:cap(a.c.Squares)], a.d.Squares[:cap(a.d.Squares)], a.net.Wires[:cap(a.net.Wires)], a.puzzle.Clues[:cap(a.puzzle.Clues)], a.numbers[:cap(a.numbers)])
+	text := fmt.Sprint(a.c.Squares[:cap(a.c.Squares)], a.d.Squares[:cap(a.d.Squares)], a.net.Wires[:cap(a.net.Wires)], a.puzzle.Clues[:cap(a.puzzle.Clues)], a.desk.Cut.Squares[:cap(a.desk.Cut.Squares)], a.desk.Kept.Squares[:cap(a.desk.Kept.Squares)], a.numbers[:cap(a.numbers)])
 	for _, c := range a.cuts[:cap(a.cuts)] {
 		text += fmt.Sprint(c.Width, c.Height, c.Squares[:cap(c.Squares)])
 	}
@@ -439,6 +486,20 @@ func plainArgs() []args {
 	for _, numbers := range [][]int{{1}, {2, 3}, {3, 2, 2}, {333, 3}, {2, 1}, {501, 2}, {0}} {
 		given = append(given, args{numbers: numbers, m: 7, n: 3, k: 5, s: "uubb"}, args{numbers: numbers, m: 3, n: 2, k: 5, s: "b"}, args{numbers: numbers, m: 8, n: 1000, k: 1, s: byTurns(20)})
 	}
+	return append(given, plainArgsOfDesks()...)
+}
+
+// plainArgsOfDesks have each kind of line, and desks of which both cuts share their memory.
+func plainArgsOfDesks() []args {
+	var given []args
+	for _, d := range []impl.Desk{desk(three, four), desk(four, four), desk(one, nine), desk(rowsOfOnes(6, 5), one), desk(three, impl.Cut{}), {}} {
+		for _, line := range append(linesOfDesks(), "cut 1x1;0,0,1", "cut 1x1;0,0,2", "code (2,1)(1)", "code (2,1)", "word ub", "tree bsuss", "tree bs", "greedy 7 3", "ratio 7 3", "strips 3 3", "whole 3 2", "turn ") {
+			given = append(given, args{desk: d, s: line})
+		}
+	}
+	for _, script := range []string{"\n", "keep\n", "swap\n", "grow 0\nfly\n\nturn\nword x\n", "keep\nturn\nbeside\nswap\nby\n", "cut 2x2;0,0,1;1,0,1;0,1,1;1,1,1\nkeep\ninto 0\nunder\n", "keep\nkeep\nshow\n", "keep"} {
+		given = append(given, args{s: script})
+	}
 	return given
 }
 
@@ -448,6 +509,7 @@ func TestPromise11ArgumentsAreNotModifiedAndNotShared(t *testing.T) {
 			a := plain
 			a.c, a.d, a.cuts = roomyCut(plain.c), roomyCut(plain.d), roomyCuts(plain.cuts)
 			a.code, a.other, a.numbers = roomyCode(plain.code), roomyCode(plain.other), roomy(plain.numbers, 1, 7)
+			a.desk = roomyDesk(plain.desk)
 			a.net.Wires = roomy(plain.net.Wires, impl.Wire{From: 0, To: 1}, impl.Wire{From: 7, To: -1})
 			a.puzzle.Clues = roomy(plain.puzzle.Clues, clue(0, 3, 0), clue(7, -1, 7))
 			before := allMemory(a)
@@ -477,6 +539,11 @@ func overwrite(results []any) {
 			fillAll(x.Wires, impl.Wire{From: 77, To: 77})
 		case impl.Puzzle:
 			fillAll(x.Clues, clue(77, 77, 77))
+		case impl.Desk:
+			fillAll(x.Cut.Squares, impl.Square{X: 77, Y: 77, Side: 77})
+			fillAll(x.Kept.Squares, impl.Square{X: 77, Y: 77, Side: 77})
+		case []string:
+			fillAll(x, "77")
 		case []impl.Cut:
 			for _, inner := range x {
 				fillAll(inner.Squares, impl.Square{X: 77, Y: 77, Side: 77})
@@ -517,6 +584,8 @@ func TestPromise11SlicesOfOneResultShareNoMemory(t *testing.T) {
 					cuts = append(cuts, x...)
 				case impl.Cut:
 					cuts = append(cuts, x)
+				case impl.Desk:
+					cuts = append(cuts, x.Cut, x.Kept)
 				}
 			}
 			shareNothing(t, name, cuts, func(inner impl.Cut) { fillAll(inner.Squares, impl.Square{X: -77}) })
